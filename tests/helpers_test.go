@@ -1,0 +1,80 @@
+package tests
+
+import (
+	"fmt"
+	"testing"
+
+	"loop.example/g01043/impl"
+)
+
+// same compares what was got with what was wanted as text, where nil and empty slices are equal.
+func same(t *testing.T, name string, got, want any) {
+	t.Helper()
+	if g, w := fmt.Sprintf("%#v", plain(got)), fmt.Sprintf("%#v", plain(want)); g != w {
+		t.Errorf("%s: got %s, want %s", name, g, w)
+	}
+}
+
+// plain replaces empty slices by nil.
+func plain(x any) any {
+	switch s := x.(type) {
+	case []int64:
+		if len(s) == 0 {
+			return []int64(nil)
+		}
+	case []string:
+		if len(s) == 0 {
+			return []string(nil)
+		}
+	case int:
+		return int64(s)
+	}
+	return x
+}
+
+// numbers is a row of numbers that look random, but are the same in every run.
+type numbers uint64
+
+// from returns the next number from low to high.
+func (n *numbers) from(low, high int64) int64 {
+	*n = *n*6364136223846793005 + 1442695040888963407
+	return low + int64(uint64(*n)>>33)%(high-low+1)
+}
+
+func foot(length, ball, instep, heel int64) impl.Foot {
+	return impl.Foot{Length: length, Ball: ball, Instep: instep, Heel: heel}
+}
+
+// long returns a foot with a length, and with other measures that never matter.
+func long(length int64) impl.Foot { return foot(length, 2400, 2500, 3200) }
+
+func longs(lengths ...int64) []impl.Foot {
+	var list []impl.Foot
+	for _, x := range lengths {
+		list = append(list, long(x))
+	}
+	return list
+}
+
+// measuresOf returns pointers to the measures of a foot, in the order of the fields.
+func measuresOf(f *impl.Foot) [4]*int64 {
+	return [4]*int64{&f.Length, &f.Ball, &f.Instep, &f.Heel}
+}
+
+// feetOf returns count feet with measures from low to high.
+func feetOf(n *numbers, count, low, high int64) []impl.Foot {
+	var list []impl.Foot
+	for range count {
+		list = append(list, foot(n.from(low, high), n.from(low, high), n.from(low, high), n.from(low, high)))
+	}
+	return list
+}
+
+// daysOf returns count strictly increasing days from 0 to at most 10000, if step is small enough.
+func daysOf(n *numbers, count, step int64) []int64 {
+	var days []int64
+	for day := n.from(0, step); int64(len(days)) < count; day += n.from(1, step) {
+		days = append(days, day)
+	}
+	return days
+}

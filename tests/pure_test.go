@@ -1,0 +1,142 @@
+package tests
+
+import (
+	"fmt"
+	"math"
+	"slices"
+	"strings"
+	"testing"
+
+	"loop.example/g01043/impl"
+)
+
+// guard returns the list with capacity behind its end, filled with marks.
+func guard[T any](list []T, mark T) []T {
+	all := append(slices.Clone(list), mark, mark, mark)
+	return all[:len(list)]
+}
+
+// feetCalls calls every function of chapter 2 and returns the results.
+func feetCalls(days []int64, list []impl.Foot, most, day int64) []any {
+	var a, b impl.Foot
+	if len(list) > 0 {
+		a, b = list[0], list[len(list)-1]
+	}
+	middle, one := impl.MiddleFoot(list)
+	far, two := impl.FarFeet(list, most)
+	joined, three := impl.JoinFeet(list, most)
+	larger, four := impl.LargerFoot(a, b)
+	difference, five := impl.DifferenceOf(a, b)
+	spread, six := impl.SpreadOf(list)
+	growth, seven := impl.GrowthOf(days, list)
+	length, eight := impl.LengthOn(days, list, day)
+	text := impl.FootText(a)
+	read, ok := impl.ReadFoot(text)
+	return []any{impl.ValidFoot(a), impl.ValidFeet(list), middle, one, plain(far), two, joined, three, larger, four, plain(difference), five, spread, six, growth, seven, length, eight, text, read, ok}
+}
+
+// hostileNumbers are numbers at both ends of ranges, just beyond them and far from them.
+var hostileNumbers = []int64{math.MinInt64, math.MinInt64 + 1, -1 << 32, -5001, -1, 0, 1, 499, 500, 5000, 5001, 10000, 10001, 20000, 20001, 1 << 32, math.MaxInt64 - 1, math.MaxInt64}
+
+// TestFeetArePure is for promise 1: valid and invalid arguments, called twice, with arguments that must stay as they are up to their capacity.
+func TestFeetArePure(t *testing.T) {
+	var n numbers
+	for i := range int64(1000) {
+		count := i % 33
+		list := feetOf(&n, count, 490, 5010)
+		days := daysOf(&n, count, 350)
+		if i%2 == 0 {
+			list = feetOf(&n, count, 500, 5000)
+		}
+		if i%7 == 0 && count > 0 {
+			list[n.from(0, count-1)].Heel = hostileNumbers[n.from(0, 17)]
+			days[n.from(0, count-1)] = hostileNumbers[n.from(0, 17)]
+		}
+		most, day := hostileNumbers[i%18], hostileNumbers[n.from(0, 17)]
+		mark := foot(5000, 500, 5000, 500)
+		list, days = guard(list, mark), guard(days, 77)
+		feetBefore, daysBefore := slices.Clone(list[:count+3]), slices.Clone(days[:count+3])
+		first := fmt.Sprintf("%#v", feetCalls(days, list, most, day))
+		same(t, "feet", list[:count+3], feetBefore)
+		same(t, "days", days[:count+3], daysBefore)
+		same(t, "second call", fmt.Sprintf("%#v", feetCalls(days, list, most, day)), first)
+		same(t, "call with copies", fmt.Sprintf("%#v", feetCalls(slices.Clip(daysBefore[:count]), slices.Clip(feetBefore[:count]), most, day)), first)
+	}
+}
+
+// TestNilIsEmpty is for promise 1: equal results for nil slices and empty ones.
+func TestNilIsEmpty(t *testing.T) {
+	for _, most := range hostileNumbers {
+		same(t, "results", fmt.Sprint(feetCalls([]int64{}, []impl.Foot{}, most, most)), fmt.Sprint(feetCalls(nil, nil, most, most)))
+	}
+}
+
+// TestFeetReturnForAll is for promise 1: each measure, number and day with each hostile number.
+func TestFeetReturnForAll(t *testing.T) {
+	for _, x := range hostileNumbers {
+		for _, y := range hostileNumbers {
+			list := []impl.Foot{foot(x, y, x, y), foot(y, x, y, x)}
+			feetCalls([]int64{x, y}, list, x, y)
+			feetCalls([]int64{x, y}, longs(2500, 2600), x, y)
+			feetCalls([]int64{x, y, x}, longs(2500, 2600, 2700), y, x)
+			feetCalls([]int64{0, 100}, longs(2500, 2600), x, y)
+		}
+	}
+}
+
+// TestResultsAreNew is for promise 1: what a caller does with a result changes no other result.
+func TestResultsAreNew(t *testing.T) {
+	a, b := foot(2500, 2400, 2500, 3200), foot(2400, 2450, 2500, 3100)
+	first, _ := impl.DifferenceOf(a, b)
+	spoil(first)
+	second, _ := impl.DifferenceOf(a, b)
+	same(t, "difference", second, []int64{-100, 50, 0, -100})
+
+	list := longs(2500, 2520, 2510, 2900)
+	far, _ := impl.FarFeet(list, 5)
+	spoil(far)
+	again, _ := impl.FarFeet(list, 5)
+	same(t, "far feet", again, []int64{0, 1, 3})
+	same(t, "list", list, longs(2500, 2520, 2510, 2900))
+
+	words := impl.SplitWords("a b c")
+	for i := range words {
+		words[i] = "x"
+	}
+	words = append(words[:0], "y", "y", "y")
+	same(t, "words", impl.SplitWords("a b c"), []string{"a", "b", "c"})
+}
+
+// spoil overwrites a result up to its capacity.
+func spoil(list []int64) {
+	for i := range list[:cap(list)] {
+		list[:cap(list)][i] = -77
+	}
+}
+
+// TestBasicsReturnForAll is for promise 1: any number and any text, twice.
+func TestBasicsReturnForAll(t *testing.T) {
+	for _, n := range hostileNumbers {
+		same(t, "code", impl.CodeName(n), impl.CodeName(n))
+		same(t, "decimal", impl.Decimal(n), impl.Decimal(n))
+	}
+	var n numbers
+	texts := []string{"", "\x00", "\xff", strings.Repeat("-", 100000), strings.Repeat(" ", 100000), strings.Repeat("9", 100000), strings.Repeat("/", 100000), strings.Repeat("a ", 50000)}
+	for range 2000 {
+		var text []byte
+		for range n.from(0, 24) {
+			text = append(text, byte(n.from(0, 255)))
+		}
+		texts = append(texts, string(text))
+	}
+	for _, s := range texts {
+		same(t, "result", textCalls(s), textCalls(strings.Clone(s)))
+	}
+}
+
+// textCalls calls every function of chapters 1 and 2 that takes a text.
+func textCalls(s string) string {
+	n, ok := impl.ReadDecimal(s)
+	f, is := impl.ReadFoot(s)
+	return fmt.Sprint(impl.IsName(s), n, ok, len(impl.SplitWords(s)), strings.Join(impl.SplitWords(s), "|"), f, is)
+}
