@@ -38,6 +38,9 @@ func feetCalls(days []int64, list []impl.Foot, most, day int64) []any {
 // hostileNumbers are numbers at both ends of ranges, just beyond them and far from them.
 var hostileNumbers = []int64{math.MinInt64, math.MinInt64 + 1, -1 << 32, -5001, -1, 0, 1, 499, 500, 5000, 5001, 10000, 10001, 20000, 20001, 1 << 32, math.MaxInt64 - 1, math.MaxInt64}
 
+// hostileSizes are the same for half sizes, widths and girths.
+var hostileSizes = []int64{math.MinInt64, math.MinInt64 + 1, -1 << 32, -1, 0, 1, 11, 12, 119, 120, 121, 4999, 5000, 5001, 1 << 32, math.MaxInt64 - 1, math.MaxInt64}
+
 // TestFeetArePure is for promise 1: valid and invalid arguments, called twice, with arguments that must stay as they are up to their capacity.
 func TestFeetArePure(t *testing.T) {
 	var n numbers
@@ -105,6 +108,12 @@ func TestResultsAreNew(t *testing.T) {
 	}
 	words = append(words[:0], "y", "y", "y")
 	same(t, "words", impl.SplitWords("a b c"), []string{"a", "b", "c"})
+
+	one, two := scale("one", 0, 10, 1), scale("two", 0, 20, 1)
+	lost, _ := impl.LostSizes(one, two, 0, 6)
+	spoil(lost)
+	anew, _ := impl.LostSizes(one, two, 0, 6)
+	same(t, "lost sizes", anew, []int64{1, 3, 5})
 }
 
 // spoil overwrites a result up to its capacity.
@@ -134,9 +143,50 @@ func TestBasicsReturnForAll(t *testing.T) {
 	}
 }
 
-// textCalls calls every function of chapters 1 and 2 that takes a text.
+// textCalls calls every function of chapters 1 to 3 that takes a text.
 func textCalls(s string) string {
 	n, ok := impl.ReadDecimal(s)
 	f, is := impl.ReadFoot(s)
-	return fmt.Sprint(impl.IsName(s), n, ok, len(impl.SplitWords(s)), strings.Join(impl.SplitWords(s), "|"), f, is)
+	half, has := impl.ReadSize(s)
+	x, code := impl.ScaleNamed(s)
+	valid := impl.ValidScale(scale(s, 0, 100, 3))
+	return fmt.Sprint(impl.IsName(s), n, ok, len(impl.SplitWords(s)), strings.Join(impl.SplitWords(s), "|"), f, is, half, has, x, code, valid)
+}
+
+// sizeCalls calls every function of chapter 3 that takes numbers, and returns the results.
+func sizeCalls(a, b impl.Scale, w impl.Widths, x, y int64) []any {
+	length, one := impl.LengthOfHalf(a, x)
+	least, two := impl.HalfFor(a, x)
+	nearest, three := impl.NearestHalf(a, x)
+	converted, four := impl.ConvertHalf(a, x, b)
+	lost, five := impl.LostSizes(a, b, x, y)
+	girth, six := impl.GirthOf(w, x, y)
+	width, seven := impl.WidthFor(w, x, y)
+	return []any{impl.ValidScale(a), impl.ValidWidths(w), length, one, least, two, nearest, three, converted, four, plain(lost), five, girth, six, width, seven, impl.SizeText(x)}
+}
+
+// TestSizesArePure is for promise 1: each number of valid and of invalid scales and widths with each hostile number, twice.
+func TestSizesArePure(t *testing.T) {
+	scales := append(badScales(), scale("a", 0, 1, 1), scale("a", 0, 1, 100), scale("a", 100, 1000, 1), scale("english", 50, 127, 3))
+	list := append(badWidths(), widths(1000, 0, 1, 1), widths(3000, 50, 200, 12), widths(2000, 20, 50, 5))
+	for i, a := range scales {
+		for j, b := range scales {
+			w := list[(i+j)%len(list)]
+			for _, x := range hostileSizes {
+				for _, y := range []int64{math.MinInt64, 0, 11, 120, 5000, math.MaxInt64} {
+					first := fmt.Sprint(sizeCalls(a, b, w, x, y))
+					same(t, "second call", fmt.Sprint(sizeCalls(a, b, w, x, y)), first)
+				}
+			}
+		}
+	}
+}
+
+// TestLibraryStays is for promise 1: what a caller does with a scale changes no other result.
+func TestLibraryStays(t *testing.T) {
+	x := named(t, "paris")
+	x.Name, x.Base, x.Num, x.Den = "mine", 1, 2, 3
+	same(t, "scale", named(t, "paris"), scale("paris", 0, 100, 3))
+	_, code := impl.ScaleNamed("mine")
+	same(t, "code", code, impl.ErrNotFound)
 }
