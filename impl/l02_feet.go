@@ -103,11 +103,14 @@ func middleOf(list []Foot) Foot {
 	return m.foot()
 }
 
+// distance returns the absolute difference of two measures.
+func distance(a, b int64) int64 { return max(a, b) - min(a, b) }
+
 // isFar reports whether a is far from b. Both are valid, so that their differences do not overflow.
 func isFar(a, b Foot, most int64) bool {
 	m, o := measuresOf(a), measuresOf(b)
 	for k := range m {
-		if max(m[k], o[k])-min(m[k], o[k]) > most {
+		if distance(m[k], o[k]) > most {
 			return true
 		}
 	}

@@ -15,9 +15,19 @@ func same(t *testing.T, name string, got, want any) {
 	}
 }
 
-// plain replaces empty slices by nil.
+// plain replaces empty slices by nil, also those in a list of results.
 func plain(x any) any {
 	switch s := x.(type) {
+	case []any:
+		all := make([]any, len(s))
+		for i, y := range s {
+			all[i] = plain(y)
+		}
+		return all
+	case []impl.Last:
+		if len(s) == 0 {
+			return []impl.Last(nil)
+		}
 	case []int64:
 		if len(s) == 0 {
 			return []int64(nil)
@@ -77,4 +87,29 @@ func daysOf(n *numbers, count, step int64) []int64 {
 		days = append(days, day)
 	}
 	return days
+}
+
+func last(name string, length, ball, instep, heel, pitch int64) impl.Last {
+	return impl.Last{Name: name, Length: length, Ball: ball, Instep: instep, Heel: heel, Pitch: pitch}
+}
+
+// measuresOfLast returns pointers to the measures of a last, in the order of the fields.
+func measuresOfLast(x *impl.Last) [4]*int64 {
+	return [4]*int64{&x.Length, &x.Ball, &x.Instep, &x.Heel}
+}
+
+// numbered returns the names a00, a01 and so on.
+func numbered(i int64) string { return fmt.Sprintf("a%02d", i) }
+
+// lastsOf returns count lasts with measures from low to high.
+func lastsOf(n *numbers, count, low, high int64) []impl.Last {
+	var list []impl.Last
+	for i := range count {
+		list = append(list, last(numbered(i), n.from(low, high), n.from(low, high), n.from(low, high), n.from(low, high), n.from(0, 1000)))
+	}
+	return list
+}
+
+func fit(low, high, girth int64, weights ...int64) impl.Fit {
+	return impl.Fit{MinRoom: low, MaxRoom: high, Girth: girth, Weights: weights}
 }

@@ -143,14 +143,16 @@ func TestBasicsReturnForAll(t *testing.T) {
 	}
 }
 
-// textCalls calls every function of chapters 1 to 3 that takes a text.
+// textCalls calls every function of chapters 1 to 4 that takes a text.
 func textCalls(s string) string {
 	n, ok := impl.ReadDecimal(s)
 	f, is := impl.ReadFoot(s)
 	half, has := impl.ReadSize(s)
 	x, code := impl.ScaleNamed(s)
 	valid := impl.ValidScale(scale(s, 0, 100, 3))
-	return fmt.Sprint(impl.IsName(s), n, ok, len(impl.SplitWords(s)), strings.Join(impl.SplitWords(s), "|"), f, is, half, has, x, code, valid)
+	made, can := impl.ReadLast(s)
+	at, found := impl.LastNamed(goodLasts()[:1], s)
+	return fmt.Sprint(impl.IsName(s), n, ok, len(impl.SplitWords(s)), strings.Join(impl.SplitWords(s), "|"), f, is, half, has, x, code, valid, made, can, at, found, impl.LastText(namedLasts(s)[0]))
 }
 
 // sizeCalls calls every function of chapter 3 that takes numbers, and returns the results.
@@ -189,4 +191,103 @@ func TestLibraryStays(t *testing.T) {
 	same(t, "scale", named(t, "paris"), scale("paris", 0, 100, 3))
 	_, code := impl.ScaleNamed("mine")
 	same(t, "code", code, impl.ErrNotFound)
+}
+
+// lastCalls calls every function of chapter 4 that takes lasts and returns the results.
+func lastCalls(list []impl.Last, f, g impl.Foot, w impl.Fit) []any {
+	x := last("a05-b", 2000, 2000, 2000, 2000, 100)
+	if len(list) > 0 {
+		x = list[len(list)/2]
+	}
+	more, one := impl.AddLast(list, last("a05-b", 2000, 2000, 2000, 2000, 100))
+	at, two := impl.LastNamed(list, x.Name)
+	may, three := impl.MayFit(x, f, w)
+	cost, four := impl.FitCost(x, f, w)
+	allowed, five := impl.AllowedLasts(list, f, w)
+	best, six := impl.BestLast(list, f, w)
+	ranked, seven := impl.RankLasts(list, f, w)
+	pair, eight := impl.PairLast(list, f, g, w)
+	text := impl.LastText(x)
+	read, ok := impl.ReadLast(text)
+	return []any{impl.ValidLasts(list), impl.SameLasts(list, more), impl.SameLasts(list, list), impl.ValidFit(w), plain(more), one, at, two, may, three, cost, four, plain(allowed), five, best, six, plain(ranked), seven, pair, eight, text, read, ok}
+}
+
+// TestLastsArePure is for promise 1: valid and invalid arguments, called twice, with arguments that must stay as they are up to their capacity.
+func TestLastsArePure(t *testing.T) {
+	var n numbers
+	badMade, badFit := badLasts(), badFits()
+	for i := range int64(1000) {
+		count := i % 33
+		list := lastsOf(&n, count, 2000, 2020)
+		feet := feetOf(&n, 2, 1990, 2020)
+		w := randomFit(&n, 20)
+		if i%5 == 0 && count > 0 {
+			list[n.from(0, count-1)] = badMade[i%int64(len(badMade))]
+		}
+		if i%7 == 0 {
+			w = badFit[i%int64(len(badFit))]
+		}
+		if i%11 == 0 {
+			*measuresOf(&feet[i%2])[i%4] = hostileNumbers[i%18]
+		}
+		weights := len(w.Weights)
+		list, w.Weights = guard(list, last("mark", 500, 500, 500, 500, 7)), guard(w.Weights, 77)
+		lastsBefore, weightsBefore := slices.Clone(list[:count+3]), slices.Clone(w.Weights[:weights+3])
+		first := fmt.Sprintf("%#v", lastCalls(list, feet[0], feet[1], w))
+		same(t, "lasts", list[:count+3], lastsBefore)
+		same(t, "weights", w.Weights[:weights+3], weightsBefore)
+		same(t, "second call", fmt.Sprintf("%#v", lastCalls(list, feet[0], feet[1], w)), first)
+		w.Weights = slices.Clip(weightsBefore[:weights])
+		same(t, "call with copies", fmt.Sprintf("%#v", lastCalls(slices.Clip(lastsBefore[:count]), feet[0], feet[1], w)), first)
+	}
+}
+
+// TestNoLastsAreNil is for promise 1: equal results for nil lists and weights and for empty ones.
+func TestNoLastsAreNil(t *testing.T) {
+	f := long(2500)
+	for _, w := range []impl.Fit{fit(80, 120, 20, 1, 2, 2, 1), {Weights: []int64{}}} {
+		same(t, "results", fmt.Sprint(lastCalls([]impl.Last{}, f, f, w)), fmt.Sprint(lastCalls(nil, f, f, w)))
+	}
+	same(t, "weights", fmt.Sprint(lastCalls(goodLasts()[:1], f, f, impl.Fit{Weights: []int64{}})), fmt.Sprint(lastCalls(goodLasts()[:1], f, f, impl.Fit{})))
+}
+
+// TestLastsReturnForAll is for promise 1: each number of a last, a foot and a fit with each hostile number.
+func TestLastsReturnForAll(t *testing.T) {
+	for _, x := range hostileNumbers {
+		for _, y := range hostileNumbers {
+			made := []impl.Last{last("a", x, y, x, y, y), last("b", 2600, 2400, 2500, 3200, x), last("c", y, 2400, x, 3200, 0)}
+			for i := range made {
+				lastCalls(made[i:i+1], long(2500), foot(x, y, y, x), fit(x, y, x, y, x, y, x))
+			}
+			lastCalls(made, foot(y, x, y, x), long(2500), fit(0, 500, y, 1, x, 1, y))
+			lastCalls(goodLasts()[:1], long(2500), foot(x, y, y, x), fit(80, 120, 20, 1, 2, 2, 1))
+			lastCalls(goodLasts()[:1], long(2500), long(2510), fit(x, y, 20, 1, 2, 2, 1))
+			lastCalls(goodLasts()[:1], long(2500), long(2510), fit(80, 120, x, 1, 2, y, 1))
+		}
+	}
+}
+
+// TestResultsOfLastsAreNew is for promise 1: what a caller does with a result changes neither an argument nor another result.
+func TestResultsOfLastsAreNew(t *testing.T) {
+	w, before := fit(80, 120, 20, 1, 2, 2, 1), namedLasts("b", "d")
+	list := guard(before, last("mark", 500, 500, 500, 500, 7))
+	for _, name := range []string{"a", "c", "e"} {
+		more, _ := impl.AddLast(list, namedLasts(name)[0])
+		for i := range more[:cap(more)] {
+			more[:cap(more)][i] = last("spoilt", 500, 500, 500, 500, 7)
+		}
+		same(t, "list", list[:2], before)
+		again, _ := impl.AddLast(list, namedLasts(name)[0])
+		same(t, "added again", len(again), 3)
+		same(t, "valid", impl.ValidLasts(again), true)
+		same(t, "behind the list", list[:5][2], last("mark", 500, 500, 500, 500, 7))
+	}
+	for range 2 {
+		allowed, _ := impl.AllowedLasts(list, long(2500), w)
+		ranked, _ := impl.RankLasts(list, long(2500), w)
+		same(t, "lasts", []any{allowed, ranked}, []any{[]int64{0, 1}, []int64{0, 1}})
+		spoil(allowed)
+		same(t, "ranked lasts", ranked, []int64{0, 1})
+		spoil(ranked)
+	}
 }
