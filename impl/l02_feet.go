@@ -289,13 +289,10 @@ func floorOf(num, den int64) int64 {
 	return whole
 }
 
-// FootText returns the text form of a foot.
-func FootText(f Foot) string {
-	if !ValidFoot(f) {
-		return ""
-	}
+// slashedText returns numbers in decimal, separated by slashes.
+func slashedText(numbers ...int64) string {
 	var text strings.Builder
-	for k, x := range measuresOf(f) {
+	for k, x := range numbers {
 		if k > 0 {
 			text.WriteByte('/')
 		}
@@ -304,20 +301,37 @@ func FootText(f Foot) string {
 	return text.String()
 }
 
-// ReadFoot returns the foot with a text form.
-func ReadFoot(s string) (Foot, bool) {
-	var m measures
-	// One part more than there are measures, so that a longer text is found out without splitting all of it.
-	parts := strings.SplitN(s, "/", len(m)+1)
-	if len(parts) != len(m) {
-		return Foot{}, false
+// readSlashed replaces numbers by those of a text, and reports whether the text has just as many.
+func readSlashed(s string, numbers []int64) bool {
+	// One part more than there are numbers, so that a longer text is found out without splitting all of it.
+	parts := strings.SplitN(s, "/", len(numbers)+1)
+	if len(parts) != len(numbers) {
+		return false
 	}
 	for k, part := range parts {
 		x, ok := ReadDecimal(part)
 		if !ok {
-			return Foot{}, false
+			return false
 		}
-		m[k] = x
+		numbers[k] = x
+	}
+	return true
+}
+
+// FootText returns the text form of a foot.
+func FootText(f Foot) string {
+	if !ValidFoot(f) {
+		return ""
+	}
+	m := measuresOf(f)
+	return slashedText(m[:]...)
+}
+
+// ReadFoot returns the foot with a text form.
+func ReadFoot(s string) (Foot, bool) {
+	var m measures
+	if !readSlashed(s, m[:]) {
+		return Foot{}, false
 	}
 	f := m.foot()
 	if !ValidFoot(f) {

@@ -28,6 +28,10 @@ func plain(x any) any {
 		if len(s) == 0 {
 			return []impl.Last(nil)
 		}
+	case []impl.Fraction:
+		if len(s) == 0 {
+			return []impl.Fraction(nil)
+		}
 	case []int64:
 		if len(s) == 0 {
 			return []int64(nil)
@@ -112,4 +116,32 @@ func lastsOf(n *numbers, count, low, high int64) []impl.Last {
 
 func fit(low, high, girth int64, weights ...int64) impl.Fit {
 	return impl.Fit{MinRoom: low, MaxRoom: high, Girth: girth, Weights: weights}
+}
+
+func grade(length, ball, instep, heel, pitch int64) impl.Grade {
+	return impl.Grade{Length: length, Ball: ball, Instep: instep, Heel: heel, Pitch: pitch}
+}
+
+// numbersOf returns pointers to the numbers of a grade, in the order of the fields.
+func numbersOf(g *impl.Grade) [5]*int64 {
+	return [5]*int64{&g.Length, &g.Ball, &g.Instep, &g.Heel, &g.Pitch}
+}
+
+// graded returns pointers to the five measures of a last that grow, in the order of the fields.
+func graded(x *impl.Last) [5]*int64 {
+	return [5]*int64{&x.Length, &x.Ball, &x.Instep, &x.Heel, &x.Pitch}
+}
+
+// gradeOf returns a grade with numbers from low to high.
+func gradeOf(n *numbers, low, high int64) impl.Grade {
+	return grade(n.from(low, high), n.from(low, high), n.from(low, high), n.from(low, high), n.from(low, high))
+}
+
+// lengthsOf returns count lengths from low to high.
+func lengthsOf(n *numbers, count, low, high int64) []int64 {
+	var list []int64
+	for range count {
+		list = append(list, n.from(low, high))
+	}
+	return list
 }

@@ -143,7 +143,7 @@ func TestBasicsReturnForAll(t *testing.T) {
 	}
 }
 
-// textCalls calls every function of chapters 1 to 4 that takes a text.
+// textCalls calls every function of chapters 1 to 5 that takes a text.
 func textCalls(s string) string {
 	n, ok := impl.ReadDecimal(s)
 	f, is := impl.ReadFoot(s)
@@ -152,7 +152,8 @@ func textCalls(s string) string {
 	valid := impl.ValidScale(scale(s, 0, 100, 3))
 	made, can := impl.ReadLast(s)
 	at, found := impl.LastNamed(goodLasts()[:1], s)
-	return fmt.Sprint(impl.IsName(s), n, ok, len(impl.SplitWords(s)), strings.Join(impl.SplitWords(s), "|"), f, is, half, has, x, code, valid, made, can, at, found, impl.LastText(namedLasts(s)[0]))
+	g, grows := impl.ReadGrade(s)
+	return fmt.Sprint(impl.IsName(s), n, ok, len(impl.SplitWords(s)), strings.Join(impl.SplitWords(s), "|"), f, is, half, has, x, code, valid, made, can, at, found, impl.LastText(namedLasts(s)[0]), g, grows)
 }
 
 // sizeCalls calls every function of chapter 3 that takes numbers, and returns the results.
@@ -289,5 +290,121 @@ func TestResultsOfLastsAreNew(t *testing.T) {
 		spoil(allowed)
 		same(t, "ranked lasts", ranked, []int64{0, 1})
 		spoil(ranked)
+	}
+}
+
+// gradeCalls calls every function of chapter 5 that takes a grade or lasts, and returns the results.
+func gradeCalls(x, y impl.Last, g impl.Grade, from, to, length int64) []any {
+	after, one := impl.GradeLast(x, g, from)
+	set, two := impl.GradeSet(x, g, from, to)
+	between, three := impl.GradeBetween(x, y, to)
+	steps, four := impl.StepsFor(x, g, length)
+	text := impl.GradeText(g)
+	read, ok := impl.ReadGrade(text)
+	return []any{impl.ValidGrade(g), after, one, plain(set), two, between, three, steps, four, text, read, ok}
+}
+
+// hostileSteps are half sizes, numbers of grades and lengths at both ends of ranges, just beyond them and far from them.
+var hostileSteps = []int64{math.MinInt64, math.MinInt64 + 1, -1 << 32, -31, -30, -1, 0, 1, 30, 31, 499, 500, 5000, 5001, 20000, 20001, 1 << 32, math.MaxInt64 - 1, math.MaxInt64}
+
+// TestGradingsArePure is for promise 1: each number of lasts and grades with each hostile number, twice.
+func TestGradingsArePure(t *testing.T) {
+	made := append(badLasts(), goodLasts()...)
+	grades := append(badGrades(), goodGrades()...)
+	for i, x := range hostileSteps {
+		for j, y := range hostileSteps {
+			for k := range 5 {
+				a, b, g := made[(i+j)%len(made)], goodLasts()[k], grades[(7*i+j)%len(grades)]
+				*graded(&b)[k] = x
+				for _, c := range []struct {
+					a, b  impl.Last
+					grade impl.Grade
+				}{{a, b, g}, {goodLasts()[k], goodLasts()[j%5], g}, {b, goodLasts()[i%5], grade(x, y, x, y, x)}, {goodLasts()[0], goodLasts()[k], grade(50, 50, 50, 50, 50)}} {
+					length := hostileSteps[(i+j+k)%19]
+					first := fmt.Sprint(gradeCalls(c.a, c.b, c.grade, x, y, length))
+					second := fmt.Sprint(gradeCalls(c.a, c.b, c.grade, x, y, length))
+					same(t, "second call", second, first)
+				}
+			}
+		}
+	}
+}
+
+// lengthCalls calls every function of chapter 5 that takes lengths, and returns the results.
+func lengthCalls(a, b []int64, sum, num, den int64) []any {
+	shares, one := impl.GradeLengths(a, sum)
+	scaled, two := impl.ScaleLengths(a, num, den)
+	errors, three := impl.ScaleErrors(a, num, den)
+	left, right, four := impl.GradeSeam(a, b, sum)
+	return []any{plain(shares), one, plain(scaled), two, plain(errors), three, plain(left), plain(right), four}
+}
+
+// hostileLengths are lengths, sums and both parts of ratios at both ends of ranges, just beyond them and far from them.
+var hostileLengths = []int64{math.MinInt64, math.MinInt64 + 1, -1 << 32, -1, 0, 1, 2, 999, 1000, 1001, 9999, 10000, 10001, 999999, 1000000, 1000001, 1 << 32, math.MaxInt64 - 1, math.MaxInt64}
+
+// TestLengthsArePure is for promise 1: valid and invalid arguments, called twice, with arguments that must stay as they are up to their capacity.
+func TestLengthsArePure(t *testing.T) {
+	var n numbers
+	for i := range int64(3000) {
+		a, sum := randomLengths(&n, i)
+		b := slices.Clone(a)
+		slices.Reverse(b)
+		num, den := n.from(1, 1000), n.from(1, 1000)
+		switch i % 9 {
+		case 1:
+			a[n.from(0, int64(len(a))-1)] = hostileLengths[n.from(0, 18)]
+		case 2:
+			b = nil
+		case 3:
+			a = lengthsOf(&n, n.from(0, 25), -1, 3)
+		case 4:
+			sum, num = hostileLengths[n.from(0, 18)], hostileLengths[n.from(0, 18)]
+		case 5:
+			sum, den = hostileLengths[n.from(0, 18)], hostileLengths[n.from(0, 18)]
+		}
+		a, b = guard(a, 77), guard(b, 78)
+		aBefore, bBefore := slices.Clone(a[:len(a)+3]), slices.Clone(b[:len(b)+3])
+		first := fmt.Sprintf("%#v", lengthCalls(a, b, sum, num, den))
+		same(t, "one side", a[:len(a)+3], aBefore)
+		same(t, "other side", b[:len(b)+3], bBefore)
+		same(t, "second call", fmt.Sprintf("%#v", lengthCalls(a, b, sum, num, den)), first)
+		same(t, "call with copies", fmt.Sprintf("%#v", lengthCalls(slices.Clip(aBefore[:len(a)]), slices.Clip(bBefore[:len(b)]), sum, num, den)), first)
+	}
+}
+
+// TestLengthsReturnForAll is for promise 1: each number with each hostile number; nil lists are like empty ones.
+func TestLengthsReturnForAll(t *testing.T) {
+	for _, x := range hostileLengths {
+		for _, y := range hostileLengths {
+			lengthCalls([]int64{x, y}, []int64{y, x}, x, y, x)
+			lengthCalls([]int64{100, x}, []int64{100, x}, y, 1, 1)
+			lengthCalls([]int64{100, 200}, []int64{x, y}, 330, x, y)
+			lengthCalls([]int64{100, 200}, []int64{300}, x, x, y)
+			same(t, "results", fmt.Sprint(lengthCalls([]int64{}, []int64{}, x, y, y)), fmt.Sprint(lengthCalls(nil, nil, x, y, y)))
+		}
+	}
+}
+
+// TestResultsOfGradingsAreNew is for promise 1: what a caller does with a result changes neither an argument nor another result.
+func TestResultsOfGradingsAreNew(t *testing.T) {
+	list := []int64{150, 150}
+	for range 2 {
+		// The same list for both sides, and sums that leave all lengths as they are.
+		a, b, _ := impl.GradeSeam(list, list, 300)
+		shares, _ := impl.GradeLengths(list, 300)
+		scaled, _ := impl.ScaleLengths(list, 1, 1)
+		for _, result := range [][]int64{a, b, shares, scaled} {
+			same(t, "result", result, []int64{150, 150})
+			spoil(result)
+			same(t, "list", list, []int64{150, 150})
+		}
+		errors, _ := impl.ScaleErrors(list, 1, 1)
+		same(t, "errors", errors, []impl.Fraction{{Den: 1}, {Den: 1}})
+		errors[0], errors[1] = impl.Fraction{}, impl.Fraction{}
+
+		x := last("a", 2500, 2500, 2500, 2500, 500)
+		set, _ := impl.GradeSet(x, impl.Grade{}, 0, 1)
+		same(t, "set", set, []impl.Last{x, x})
+		set[0], set[1] = impl.Last{}, impl.Last{}
 	}
 }
