@@ -40,6 +40,12 @@ func plain(x any) any {
 		if len(s) == 0 {
 			return []string(nil)
 		}
+	case [][]int64:
+		all := make([]any, len(s))
+		for i, y := range s {
+			all[i] = plain(y)
+		}
+		return all
 	case int:
 		return int64(s)
 	}

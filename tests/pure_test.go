@@ -143,7 +143,7 @@ func TestBasicsReturnForAll(t *testing.T) {
 	}
 }
 
-// textCalls calls every function of chapters 1 to 5 that takes a text.
+// textCalls calls every function of chapters 1 to 6 that takes a text.
 func textCalls(s string) string {
 	n, ok := impl.ReadDecimal(s)
 	f, is := impl.ReadFoot(s)
@@ -406,5 +406,101 @@ func TestResultsOfGradingsAreNew(t *testing.T) {
 		set, _ := impl.GradeSet(x, impl.Grade{}, 0, 1)
 		same(t, "set", set, []impl.Last{x, x})
 		set[0], set[1] = impl.Last{}, impl.Last{}
+	}
+}
+
+// buildCalls calls every function of chapter 6 and returns the results.
+func buildCalls(layers, prices []int64, x impl.Last, f impl.Foot, low, high int64) []any {
+	few, one := impl.FewestLayers(layers, high)
+	within, two := impl.FewestWithin(layers, low, high)
+	many, three := impl.CountBuilds(layers, high)
+	none, four := impl.UnreachedSums(layers, high)
+	cheap, price, five := impl.CheapestBuild(layers, prices, high)
+	need, six := impl.NeedOf(x, f)
+	made, seven := impl.BuildLast(x, low, layers)
+	more, eight := impl.BuildLast(x, high, prices)
+	builds, nine := impl.BuildUpFor(x, f, layers, low)
+	return []any{impl.ValidLayers(layers), plain(few), one, plain(within), two, many, three, plain(none), four, plain(cheap), price, five, plain(need), six, made, seven, more, eight, plain(builds), nine}
+}
+
+// hostileSums are sums, prices and layers at both ends of ranges, just beyond them and far from them.
+var hostileSums = []int64{math.MinInt64, math.MinInt64 + 1, -1 << 32, -1001, -1, 0, 1, 2, 3, 4, 199, 200, 201, 999, 1000, 1001, 5000, 1 << 32, math.MaxInt64 - 1, math.MaxInt64}
+
+// TestBuildUpsArePure is for promise 1: valid and invalid arguments, called twice, with arguments that must stay as they are up to their capacity.
+func TestBuildUpsArePure(t *testing.T) {
+	var n numbers
+	for i := range int64(1500) {
+		layers, most := layersOf(&n, 1+i%8, 1, []int64{12, 60, 200}[i%3]), []int64{5, 60, 900}[i/3%3]
+		prices := lengthsOf(&n, int64(len(layers)), 0, []int64{0, 3, 1000}[i/9%3])
+		x, f := randomGirths(&n, most)
+		high := n.from(0, 1000)
+		low := n.from(0, high)
+		switch i % 10 {
+		case 1:
+			layers[n.from(0, int64(len(layers))-1)] = hostileSums[n.from(0, 19)]
+		case 2:
+			prices[n.from(0, int64(len(prices))-1)] = hostileSums[n.from(0, 19)]
+		case 3:
+			layers = lengthsOf(&n, n.from(0, 10), 0, 12)
+		case 4:
+			low, high = hostileSums[n.from(0, 19)], hostileSums[n.from(0, 19)]
+		case 5:
+			x = badLasts()[i%int64(len(badLasts()))]
+		case 6:
+			*measuresOf(&f)[i%4] = hostileSums[n.from(0, 19)]
+		case 7:
+			prices = lengthsOf(&n, n.from(90, 110), 1, 200)
+		}
+		layers, prices = guard(layers, 77), guard(prices, 78)
+		layersBefore, pricesBefore := slices.Clone(layers[:len(layers)+3]), slices.Clone(prices[:len(prices)+3])
+		first := fmt.Sprintf("%#v", buildCalls(layers, prices, x, f, low, high))
+		same(t, "layers", layers[:len(layers)+3], layersBefore)
+		same(t, "prices", prices[:len(prices)+3], pricesBefore)
+		same(t, "second call", fmt.Sprintf("%#v", buildCalls(layers, prices, x, f, low, high)), first)
+		same(t, "call with copies", fmt.Sprintf("%#v", buildCalls(slices.Clip(layersBefore[:len(layers)]), slices.Clip(pricesBefore[:len(prices)]), x, f, low, high)), first)
+	}
+}
+
+// TestBuildUpsReturnForAll is for promise 1: each number with each hostile number; nil lists are like empty ones.
+func TestBuildUpsReturnForAll(t *testing.T) {
+	x, f := needing(10, 20, 0)
+	for _, p := range hostileSums {
+		for _, q := range hostileSums {
+			odd, strange := last("a", p, q, p, q, q), foot(q, p, q, p)
+			buildCalls([]int64{p, q}, []int64{q, p}, odd, strange, p, q)
+			buildCalls([]int64{4, 10, 12}, []int64{p, q, p}, x, strange, q, p)
+			buildCalls([]int64{4, p, q}, []int64{1, 3, 9}, odd, f, 1, 1000)
+			buildCalls([]int64{1, 2, 3, 4, 5, 6, 7, 8}, []int64{1, 2, 3, 4, 5, 6, 7, 8}, x, f, p, q)
+			same(t, "results", fmt.Sprint(buildCalls([]int64{}, []int64{}, x, f, p, q)), fmt.Sprint(buildCalls(nil, nil, x, f, p, q)))
+			same(t, "results without prices", fmt.Sprint(buildCalls([]int64{4}, []int64{}, x, f, p, q)), fmt.Sprint(buildCalls([]int64{4}, nil, x, f, p, q)))
+		}
+	}
+}
+
+// TestResultsOfBuildUpsAreNew is for promise 1: what a caller does with a result changes neither an argument nor another result, nor another part of the same one.
+func TestResultsOfBuildUpsAreNew(t *testing.T) {
+	layers, prices := []int64{10}, []int64{10}
+	x, f := needing(10, 10, 10)
+	for range 2 {
+		few, _ := impl.FewestLayers(layers, 10)
+		within, _ := impl.FewestWithin(layers, 1, 10)
+		cheap, _, _ := impl.CheapestBuild(layers, prices, 10)
+		builds, _ := impl.BuildUpFor(x, f, layers, 0)
+		for _, result := range append([][]int64{few, within, cheap}, builds...) {
+			same(t, "result", result, []int64{10})
+			spoil(result)
+			same(t, "arguments", []any{layers, prices}, []any{[]int64{10}, []int64{10}})
+		}
+		for i := range builds[:cap(builds)] {
+			builds[:cap(builds)][i] = nil
+		}
+		need, _ := impl.NeedOf(x, f)
+		same(t, "need", need, []int64{10, 10, 10})
+		spoil(need)
+		none, _ := impl.UnreachedSums([]int64{1, 4}, 0)
+		same(t, "no sums", none, []int64(nil))
+		none, _ = impl.UnreachedSums([]int64{2, 3}, 4)
+		same(t, "sums", none, []int64{1})
+		spoil(none)
 	}
 }
