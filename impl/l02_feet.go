@@ -17,6 +17,9 @@ const (
 	maxAsked = 20000
 )
 
+// slash separates the measures of a foot, and the numbers of a grade.
+const slash = "/"
+
 // Foot is a foot: its length and its girths at the ball, at the instep and at the heel.
 type Foot struct {
 	Length int64
@@ -265,13 +268,18 @@ func LengthOn(days []int64, list []Foot, day int64) (int64, int64) {
 	return lineThrough(days, list).lengthOn(day), OK
 }
 
-// lowest returns num / den in lowest terms; den is positive.
-func lowest(num, den int64) Fraction {
-	a, b := max(num, -num), den
+// commonDivisor returns the greatest common divisor of two numbers that are not negative, the other one if one is 0.
+func commonDivisor(a, b int64) int64 {
 	for b != 0 {
 		a, b = b, a%b
 	}
-	return Fraction{Num: num / a, Den: den / a}
+	return a
+}
+
+// lowest returns num / den in lowest terms; den is positive.
+func lowest(num, den int64) Fraction {
+	d := commonDivisor(max(num, -num), den)
+	return Fraction{Num: num / d, Den: den / d}
 }
 
 // nearest returns the nearest integer of num / den, the greater one if two are nearest; den is positive.
@@ -289,22 +297,22 @@ func floorOf(num, den int64) int64 {
 	return whole
 }
 
-// slashedText returns numbers in decimal, separated by slashes.
-func slashedText(numbers ...int64) string {
+// separatedText returns numbers in decimal with a separator between them.
+func separatedText(separator string, numbers ...int64) string {
 	var text strings.Builder
 	for k, x := range numbers {
 		if k > 0 {
-			text.WriteByte('/')
+			text.WriteString(separator)
 		}
 		text.WriteString(Decimal(x))
 	}
 	return text.String()
 }
 
-// readSlashed replaces numbers by those of a text, and reports whether the text has just as many.
-func readSlashed(s string, numbers []int64) bool {
+// readSeparated replaces numbers by those of a text, and reports whether the text has just as many.
+func readSeparated(s, separator string, numbers []int64) bool {
 	// One part more than there are numbers, so that a longer text is found out without splitting all of it.
-	parts := strings.SplitN(s, "/", len(numbers)+1)
+	parts := strings.SplitN(s, separator, len(numbers)+1)
 	if len(parts) != len(numbers) {
 		return false
 	}
@@ -324,13 +332,13 @@ func FootText(f Foot) string {
 		return ""
 	}
 	m := measuresOf(f)
-	return slashedText(m[:]...)
+	return separatedText(slash, m[:]...)
 }
 
 // ReadFoot returns the foot with a text form.
 func ReadFoot(s string) (Foot, bool) {
 	var m measures
-	if !readSlashed(s, m[:]) {
+	if !readSeparated(s, slash, m[:]) {
 		return Foot{}, false
 	}
 	f := m.foot()

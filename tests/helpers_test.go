@@ -2,6 +2,9 @@ package tests
 
 import (
 	"fmt"
+	"slices"
+	"strconv"
+	"strings"
 	"testing"
 
 	"loop.example/g01043/impl"
@@ -31,6 +34,10 @@ func plain(x any) any {
 	case []impl.Fraction:
 		if len(s) == 0 {
 			return []impl.Fraction(nil)
+		}
+	case []impl.Spot:
+		if len(s) == 0 {
+			return []impl.Spot(nil)
 		}
 	case []int64:
 		if len(s) == 0 {
@@ -151,3 +158,136 @@ func lengthsOf(n *numbers, count, low, high int64) []int64 {
 	}
 	return list
 }
+
+func spot(x, y int64) impl.Spot { return impl.Spot{X: x, Y: y} }
+
+// spots returns the spots of a text, which need not be an outline. It panics if there are none, as the tests write these texts.
+func spots(text string) []impl.Spot {
+	var list []impl.Spot
+	for _, word := range strings.Fields(text) {
+		x, y, _ := strings.Cut(word, ",")
+		list = append(list, spot(number(x), number(y)))
+	}
+	return list
+}
+
+func number(s string) int64 {
+	n, err := strconv.ParseInt(s, 10, 64)
+	if err != nil {
+		panic(err)
+	}
+	return n
+}
+
+// bow returns count corners that go around to the left, and none of which is on the straight line through two others.
+func bow(count int64) []impl.Spot {
+	var list []impl.Spot
+	for x := range count {
+		list = append(list, spot(x, x*x))
+	}
+	return list
+}
+
+// ways returns the same closed line from each corner on, and the other way round.
+func ways(list []impl.Spot) [][]impl.Spot {
+	var all [][]impl.Spot
+	for i := range list {
+		one := append(slices.Clone(list[i:]), list[:i]...)
+		other := slices.Clone(one)
+		slices.Reverse(other)
+		all = append(all, one, other)
+	}
+	return all
+}
+
+// spotsOf returns count spots with X and Y from low to high.
+func spotsOf(n *numbers, count, low, high int64) []impl.Spot {
+	var list []impl.Spot
+	for range count {
+		list = append(list, spot(n.from(low, high), n.from(low, high)))
+	}
+	return list
+}
+
+// outlineOf returns an outline with count corners from low to high, for which there must be room enough. It lays spots that it has drawn in another order until no sides meet.
+func outlineOf(n *numbers, count, low, high int64) []impl.Spot {
+	for {
+		list := spotsOf(n, count, low, high)
+		for range 1000 {
+			i, j, meet := firstMeeting(list)
+			if !meet {
+				break
+			}
+			slices.Reverse(list[i+1 : j+1])
+		}
+		if isOutline(list) {
+			return list
+		}
+	}
+}
+
+// outlinesOf returns outlines of all numbers of corners: small ones with many corners on straight lines, larger ones, and some that have the size of all leather.
+func outlinesOf(n *numbers, rounds int64) [][]impl.Spot {
+	var all [][]impl.Spot
+	for round := range rounds {
+		for count := int64(3); count <= 24; count++ {
+			low, size := n.from(0, 30), max(3, count*2/3)
+			switch round % 4 {
+			case 1:
+				size = 30
+			case 2:
+				low, size = n.from(0, 9000), 1000
+			case 3:
+				low, size = 0, 10000
+			}
+			all = append(all, outlineOf(n, count, low, low+size))
+		}
+	}
+	return all
+}
+
+// isOutline reports what ValidOutline has to report of spots on leather.
+func isOutline(list []impl.Spot) bool {
+	if len(list) < 3 || len(list) > 24 {
+		return false
+	}
+	for i, a := range list {
+		b, c := list[(i+1)%len(list)], list[(i+2)%len(list)]
+		// The slopes are equal, or two corners are.
+		if (b.Y-a.Y)*(c.X-b.X) == (c.Y-b.Y)*(b.X-a.X) {
+			return false
+		}
+	}
+	_, _, meet := firstMeeting(list)
+	return !meet
+}
+
+// firstMeeting returns the numbers of two sides that meet without being neighbours.
+func firstMeeting(list []impl.Spot) (int, int, bool) {
+	count := len(list)
+	for i := range count {
+		for j := i + 2; j < count; j++ {
+			if (j+1)%count != i && meet(list[i], list[i+1], list[j], list[(j+1)%count]) {
+				return i, j, true
+			}
+		}
+	}
+	return 0, 0, false
+}
+
+// meet solves a + (b - a) * t / d = c + (e - c) * u / d for t and u.
+func meet(a, b, c, e impl.Spot) bool {
+	d := (b.X-a.X)*(e.Y-c.Y) - (b.Y-a.Y)*(e.X-c.X)
+	t := (c.X-a.X)*(e.Y-c.Y) - (c.Y-a.Y)*(e.X-c.X)
+	u := (c.X-a.X)*(b.Y-a.Y) - (c.Y-a.Y)*(b.X-a.X)
+	if d < 0 {
+		d, t, u = -d, -t, -u
+	}
+	if d > 0 {
+		return 0 <= t && t <= d && 0 <= u && u <= d
+	}
+	// Both have the same direction: they meet if they are on one straight line, and nothing is between them.
+	return u == 0 && overlap(a.X, b.X, c.X, e.X) && overlap(a.Y, b.Y, c.Y, e.Y)
+}
+
+func overlap(a, b, c, d int64) bool { return max(min(a, b), min(c, d)) <= min(max(a, b), max(c, d)) }

@@ -143,7 +143,7 @@ func TestBasicsReturnForAll(t *testing.T) {
 	}
 }
 
-// textCalls calls every function of chapters 1 to 6 that takes a text.
+// textCalls calls every function of chapters 1 to 7 that takes a text.
 func textCalls(s string) string {
 	n, ok := impl.ReadDecimal(s)
 	f, is := impl.ReadFoot(s)
@@ -153,7 +153,8 @@ func textCalls(s string) string {
 	made, can := impl.ReadLast(s)
 	at, found := impl.LastNamed(goodLasts()[:1], s)
 	g, grows := impl.ReadGrade(s)
-	return fmt.Sprint(impl.IsName(s), n, ok, len(impl.SplitWords(s)), strings.Join(impl.SplitWords(s), "|"), f, is, half, has, x, code, valid, made, can, at, found, impl.LastText(namedLasts(s)[0]), g, grows)
+	list, isOutline := impl.ReadOutline(s)
+	return fmt.Sprint(impl.IsName(s), n, ok, len(impl.SplitWords(s)), strings.Join(impl.SplitWords(s), "|"), f, is, half, has, x, code, valid, made, can, at, found, impl.LastText(namedLasts(s)[0]), g, grows, list, isOutline)
 }
 
 // sizeCalls calls every function of chapter 3 that takes numbers, and returns the results.
@@ -502,5 +503,89 @@ func TestResultsOfBuildUpsAreNew(t *testing.T) {
 		none, _ = impl.UnreachedSums([]int64{2, 3}, 4)
 		same(t, "sums", none, []int64{1})
 		spoil(none)
+	}
+}
+
+// outlineCalls calls every function of chapter 7 and returns the results.
+func outlineCalls(list, other []impl.Spot, p impl.Spot, quarters int64) []any {
+	twice, one := impl.TwiceArea(list)
+	left, two := impl.IsLeftHanded(list)
+	place, three := impl.PlaceOfSpot(list, p)
+	low, high, four := impl.BoxOf(list)
+	hull, five := impl.HullOf(list)
+	hollow, six := impl.IsHollow(list)
+	mirrored, seven := impl.MirrorOutline(list)
+	turned, eight := impl.TurnOutline(list, quarters)
+	inside, onSides, nine := impl.SpotsInside(list)
+	text := impl.OutlineText(list)
+	read, ok := impl.ReadOutline(text)
+	return []any{impl.ValidOutline(list), impl.SameOutline(list, other), impl.SameOutline(other, list), twice, one, left, two, place, three, low, high, four, plain(hull), five, hollow, six, plain(mirrored), seven, plain(turned), eight, inside, onSides, nine, text, plain(read), ok}
+}
+
+// hostilePlaces are places and quarters at both ends of ranges, just beyond them and far from them.
+var hostilePlaces = []int64{math.MinInt64, math.MinInt64 + 1, -1 << 32, -10001, -10000, -1, 0, 1, 2, 3, 4, 5, 9999, 10000, 10001, 1 << 32, math.MaxInt64 - 1, math.MaxInt64}
+
+// TestOutlinesArePure is for promise 1: valid and invalid arguments, called twice, with arguments that must stay as they are up to their capacity.
+func TestOutlinesArePure(t *testing.T) {
+	var n numbers
+	for i, list := range append(outlinesOf(&n, 30), badOutlines()...) {
+		p, quarters := spot(n.from(0, 40), n.from(0, 40)), n.from(0, 3)
+		switch i % 6 {
+		case 1:
+			p = otherSpots[n.from(0, int64(len(otherSpots))-1)]
+		case 2:
+			quarters = hostilePlaces[n.from(0, 17)]
+		case 3:
+			list = append(list, spotsOf(&n, 1, 0, 10000)...)
+		case 4:
+			if len(list) > 0 {
+				list[n.from(0, int64(len(list))-1)].X = hostilePlaces[n.from(0, 17)]
+			}
+		}
+		count := len(list)
+		other := slices.Clone(list[:count-count%2])
+		list, other = guard(list, spot(7, 7)), guard(other, spot(8, 8))
+		listBefore, otherBefore := slices.Clone(list[:count+3]), slices.Clone(other[:len(other)+3])
+		first := fmt.Sprintf("%#v", outlineCalls(list, other, p, quarters))
+		same(t, "corners", list[:count+3], listBefore)
+		same(t, "other corners", other[:len(other)+3], otherBefore)
+		same(t, "second call", fmt.Sprintf("%#v", outlineCalls(list, other, p, quarters)), first)
+		same(t, "call with copies", fmt.Sprintf("%#v", outlineCalls(slices.Clip(listBefore[:count]), slices.Clip(otherBefore[:len(other)]), p, quarters)), first)
+	}
+}
+
+// TestOutlinesReturnForAll is for promise 1: each number with each hostile number; nil lists are like empty ones.
+func TestOutlinesReturnForAll(t *testing.T) {
+	for _, x := range hostilePlaces {
+		for _, y := range hostilePlaces {
+			p, q := spot(x, y), spot(y, x)
+			lists := [][]impl.Spot{{p}, {p, q}, {p, q, p}, {p, q, spot(x, x)}, {p, spot(4, 0), spot(0, 3)}, {spot(0, 0), p, q}, {spot(0, 0), spot(10000, 0), p, spot(0, 10000)}, append(bow(23), p), append(bow(24), p), spots("0,0 4,0 0,3")}
+			for i, list := range lists {
+				outlineCalls(list, lists[(i+1)%len(lists)], q, y)
+			}
+			same(t, "results", fmt.Sprint(outlineCalls([]impl.Spot{}, []impl.Spot{}, p, y)), fmt.Sprint(outlineCalls(nil, nil, p, y)))
+		}
+	}
+}
+
+// TestResultsOfOutlinesAreNew is for promise 1: what a caller does with a result changes neither an argument nor another result, also where the result is equal to the argument.
+func TestResultsOfOutlinesAreNew(t *testing.T) {
+	const text = "0,0 4,0 4,3 0,3"
+	list := spots(text)
+	for range 2 {
+		hull, _ := impl.HullOf(list)
+		turned, _ := impl.TurnOutline(list, 0)
+		half, _ := impl.TurnOutline(spots("4,3 0,3 0,0 4,0"), 2)
+		mirrored, _ := impl.MirrorOutline(spots("4,3 0,3 0,0 4,0"))
+		read, _ := impl.ReadOutline(text)
+		same(t, "mirrored", mirrored, spots("0,0 4,0 4,3 0,3"))
+		for _, result := range [][]impl.Spot{hull, turned, half, mirrored, read} {
+			same(t, "result", result, spots(text))
+			all := result[:cap(result)]
+			for i := range all {
+				all[i] = spot(-77, -77)
+			}
+			same(t, "corners", list, spots(text))
+		}
 	}
 }
