@@ -39,6 +39,10 @@ func plain(x any) any {
 		if len(s) == 0 {
 			return []impl.Spot(nil)
 		}
+	case impl.Piece:
+		return plainPiece(s)
+	case impl.Pattern:
+		return plainPattern(s)
 	case []int64:
 		if len(s) == 0 {
 			return []int64(nil)
@@ -57,6 +61,21 @@ func plain(x any) any {
 		return int64(s)
 	}
 	return x
+}
+
+// plainPiece replaces empty edges by nil.
+func plainPiece(x impl.Piece) impl.Piece {
+	x.Edges = append([]int64(nil), x.Edges...)
+	return x
+}
+
+// plainPattern replaces empty lists by nil, also those of the pieces.
+func plainPattern(p impl.Pattern) impl.Pattern {
+	var pieces []impl.Piece
+	for _, x := range p.Pieces {
+		pieces = append(pieces, plainPiece(x))
+	}
+	return impl.Pattern{Pieces: pieces, Seams: append([]impl.Seam(nil), p.Seams...), Openings: p.Openings}
 }
 
 // numbers is a row of numbers that look random, but are the same in every run.
@@ -291,3 +310,103 @@ func meet(a, b, c, e impl.Spot) bool {
 }
 
 func overlap(a, b, c, d int64) bool { return max(min(a, b), min(c, d)) <= min(max(a, b), max(c, d)) }
+
+func piece(name string, edges ...int64) impl.Piece { return impl.Piece{Name: name, Edges: edges} }
+
+func seam(a, edgeA, b, edgeB int64) impl.Seam {
+	return impl.Seam{A: a, EdgeA: edgeA, B: b, EdgeB: edgeB}
+}
+
+// piecesOf returns the pieces of a text such as `vamp 100 200 100, tongue 5 5 5`, which need not be valid.
+func piecesOf(text string) []impl.Piece {
+	var list []impl.Piece
+	for _, part := range strings.Split(text, ",") {
+		words := strings.Fields(part)
+		if len(words) == 0 {
+			continue
+		}
+		x := piece(words[0])
+		for _, word := range words[1:] {
+			x.Edges = append(x.Edges, number(word))
+		}
+		list = append(list, x)
+	}
+	return list
+}
+
+// seamsOf returns the seams of a text such as `0.1=2.3 0.0=0.2`, which need not exist: an edge is told by its piece and its number.
+func seamsOf(text string) []impl.Seam {
+	var list []impl.Seam
+	for _, word := range strings.Fields(text) {
+		one, other, _ := strings.Cut(word, "=")
+		a, edgeA, _ := strings.Cut(one, ".")
+		b, edgeB, _ := strings.Cut(other, ".")
+		list = append(list, seam(number(a), number(edgeA), number(b), number(edgeB)))
+	}
+	return list
+}
+
+func pattern(pieces, seams string, openings int64) impl.Pattern {
+	return impl.Pattern{Pieces: piecesOf(pieces), Seams: seamsOf(seams), Openings: openings}
+}
+
+// like returns the same pattern in other memory.
+func like(p impl.Pattern) impl.Pattern { return plainPattern(p) }
+
+// lengthAt returns the length of an edge of a pattern.
+func lengthAt(p impl.Pattern, at [2]int64) int64 { return p.Pieces[at[0]].Edges[at[1]] }
+
+// edgesOf returns the pieces and the numbers of all edges of a pattern, in order.
+func edgesOf(p impl.Pattern) [][2]int64 {
+	var list [][2]int64
+	for i, x := range p.Pieces {
+		for k := range x.Edges {
+			list = append(list, [2]int64{int64(i), int64(k)})
+		}
+	}
+	return list
+}
+
+// shuffle brings a list into another order.
+func shuffle[T any](n *numbers, list []T) {
+	for i := range list {
+		j := n.from(int64(i), int64(len(list)-1))
+		list[i], list[j] = list[j], list[i]
+	}
+}
+
+// looseOf returns a pattern without seams, of count pieces with 3 to most edges from low to high.
+func looseOf(n *numbers, count, most, low, high int64) impl.Pattern {
+	var p impl.Pattern
+	for i := range count {
+		p.Pieces = append(p.Pieces, piece(numbered(i), lengthsOf(n, n.from(3, most), low, high)...))
+	}
+	return p
+}
+
+// sewnOf returns a pattern with at most count seams between edges that look random.
+func sewnOf(n *numbers, p impl.Pattern, count int64) impl.Pattern {
+	p = like(p)
+	edges := edgesOf(p)
+	shuffle(n, edges)
+	for i := 0; i+1 < len(edges) && int64(i) < 2*count; i += 2 {
+		a, b := edges[i], edges[i+1]
+		p.Seams = append(p.Seams, seam(a[0], a[1], b[0], b[1]))
+	}
+	return p
+}
+
+// patternsOf returns patterns of all numbers of pieces, without seams, with a few of them, with many and with all that are possible.
+func patternsOf(n *numbers, rounds int64) []impl.Pattern {
+	var all []impl.Pattern
+	for round := range rounds {
+		for count := int64(1); count <= 10; count++ {
+			p := looseOf(n, count, []int64{3, 4, 8}[round%3], 1, []int64{3, 100, 10000}[round/3%3])
+			seams := []int64{0, 40, count - 1, count, n.from(0, 2*count), n.from(count, 4*count)}[round%6]
+			p = sewnOf(n, p, seams)
+			p.Openings = n.from(0, 4)
+			all = append(all, p)
+		}
+	}
+	return all
+}

@@ -143,7 +143,7 @@ func TestBasicsReturnForAll(t *testing.T) {
 	}
 }
 
-// textCalls calls every function of chapters 1 to 7 that takes a text.
+// textCalls calls every function of chapters 1 to 8 that takes a text.
 func textCalls(s string) string {
 	n, ok := impl.ReadDecimal(s)
 	f, is := impl.ReadFoot(s)
@@ -154,7 +154,9 @@ func textCalls(s string) string {
 	at, found := impl.LastNamed(goodLasts()[:1], s)
 	g, grows := impl.ReadGrade(s)
 	list, isOutline := impl.ReadOutline(s)
-	return fmt.Sprint(impl.IsName(s), n, ok, len(impl.SplitWords(s)), strings.Join(impl.SplitWords(s), "|"), f, is, half, has, x, code, valid, made, can, at, found, impl.LastText(namedLasts(s)[0]), g, grows, list, isOutline)
+	cut, isPiece := impl.ReadPiece(s)
+	written, sews := impl.PieceText(piece(s, 1, 2, 3)), impl.ValidPattern(impl.Pattern{Pieces: []impl.Piece{piece(s, 1, 2, 3)}})
+	return fmt.Sprint(impl.IsName(s), n, ok, len(impl.SplitWords(s)), strings.Join(impl.SplitWords(s), "|"), f, is, half, has, x, code, valid, made, can, at, found, impl.LastText(namedLasts(s)[0]), g, grows, list, isOutline, cut, isPiece, written, sews)
 }
 
 // sizeCalls calls every function of chapter 3 that takes numbers, and returns the results.
@@ -587,5 +589,152 @@ func TestResultsOfOutlinesAreNew(t *testing.T) {
 			}
 			same(t, "corners", list, spots(text))
 		}
+	}
+}
+
+// patternCalls calls every function of chapter 8 and returns the results.
+func patternCalls(p, other impl.Pattern, s impl.Seam, most int64) []any {
+	more, one := impl.AddSeam(p, s)
+	differences, two := impl.SeamDifferences(p)
+	open, three := impl.OpenEdges(p)
+	openings, four := impl.OpeningsOf(p)
+	parts, five := impl.PartsOf(p)
+	corners, six := impl.CornersOf(p)
+	euler, seven := impl.EulerOf(p)
+	kind, at, eight := impl.FirstFault(p, most)
+	sound, nine := impl.IsSound(p, most)
+	results := []any{impl.ValidPattern(p), impl.SamePattern(p, other), impl.SamePattern(other, p), plain(more), one, plain(differences), two, plain(open), three, plain(openings), four, plain(parts), five, corners, six, euler, seven, kind, at, eight, sound, nine}
+	for _, x := range p.Pieces {
+		text := impl.PieceText(x)
+		read, ok := impl.ReadPiece(text)
+		results = append(results, text, plain(read), ok)
+	}
+	return results
+}
+
+// hostileEdges are edges, pieces, openings and differences at both ends of ranges, just beyond them and far from them.
+var hostileEdges = []int64{math.MinInt64, math.MinInt64 + 1, -1 << 32, -10001, -1, 0, 1, 2, 3, 7, 8, 9, 10, 11, 100, 101, 9999, 10000, 10001, 1 << 32, 1<<32 + 1, math.MaxInt64 - 1, math.MaxInt64}
+
+// guardPattern returns the pattern with marks behind all its lists.
+func guardPattern(p impl.Pattern) impl.Pattern {
+	p = like(p)
+	for i := range p.Pieces {
+		p.Pieces[i].Edges = guard(p.Pieces[i].Edges, 77)
+	}
+	return impl.Pattern{Pieces: guard(p.Pieces, piece("mark", 7, 7, 7)), Seams: guard(p.Seams, seam(7, 7, 7, 7)), Openings: p.Openings}
+}
+
+// allOfPattern writes the pattern up to the capacity of all its lists.
+func allOfPattern(p impl.Pattern) string {
+	text := fmt.Sprint(p.Openings, p.Seams[:cap(p.Seams)], p.Pieces[:cap(p.Pieces)])
+	for _, x := range p.Pieces {
+		text += fmt.Sprint(x.Edges[:cap(x.Edges)])
+	}
+	return text
+}
+
+// TestPatternsArePure is for promise 1: valid and invalid arguments, called twice, with arguments that must stay as they are up to their capacity.
+func TestPatternsArePure(t *testing.T) {
+	var n numbers
+	for i, p := range slices.Concat(patternsOf(&n, 60), goodPatterns(), badPatterns()) {
+		most, s := n.from(0, 10000), seam(n.from(0, 3), n.from(0, 4), n.from(0, 3), n.from(0, 4))
+		x := hostileEdges[n.from(0, 22)]
+		switch i % 7 {
+		case 1:
+			most = x
+		case 2:
+			s = seam(0, x, 0, 1)
+		case 3:
+			p.Openings = x
+		case 4:
+			if len(p.Seams) > 0 {
+				p.Seams[n.from(0, int64(len(p.Seams))-1)].B = x
+			}
+		case 5:
+			if open := openOf(p); len(open) > 1 {
+				s = seam(open[0][0], open[0][1], open[1][0], open[1][1])
+			}
+		}
+		p, other := guardPattern(p), guardPattern(p)
+		if i%2 == 0 {
+			other = guardPattern(pair("0.0=1.0", 1))
+		}
+		pBefore, otherBefore := allOfPattern(p), allOfPattern(other)
+		first := fmt.Sprintf("%#v", patternCalls(p, other, s, most))
+		same(t, "pattern", allOfPattern(p), pBefore)
+		same(t, "other pattern", allOfPattern(other), otherBefore)
+		same(t, "second call", fmt.Sprintf("%#v", patternCalls(p, other, s, most)), first)
+		same(t, "call with copies", fmt.Sprintf("%#v", patternCalls(like(p), like(other), s, most)), first)
+	}
+}
+
+// TestPatternsReturnForAll is for promise 1: each number with each hostile number; nil lists are like empty ones.
+func TestPatternsReturnForAll(t *testing.T) {
+	empty := impl.Pattern{Pieces: []impl.Piece{}, Seams: []impl.Seam{}}
+	for _, x := range hostileEdges {
+		for _, y := range hostileEdges {
+			s := seam(x, y, y, x)
+			list := []impl.Pattern{pattern("a 100 200 103 200, b 5 6 7", "0.0=0.2", x), {Pieces: []impl.Piece{piece("a", x, y, 1), piece("b", 1, y, x, 1)}, Seams: seamsOf("0.0=1.0"), Openings: 1}, pair("0.0=1.0", y)}
+			for _, more := range []impl.Seam{s, seam(0, x, 0, y), seam(x, 0, y, 0), seam(0, x, y, 0), seam(x, 1, 0, y)} {
+				p := pair("0.2=1.1", 1)
+				p.Seams = append(p.Seams, more)
+				list = append(list, p)
+				patternCalls(pair("0.2=1.1", 1), p, more, 5)
+			}
+			for i, p := range list {
+				patternCalls(p, list[(i+1)%len(list)], s, y)
+			}
+			empty.Openings = x
+			same(t, "results", fmt.Sprint(patternCalls(empty, empty, s, y)), fmt.Sprint(patternCalls(impl.Pattern{Openings: x}, impl.Pattern{Openings: x}, s, y)))
+			p, q := many(2), many(2)
+			q.Seams = []impl.Seam{}
+			same(t, "results without seams", fmt.Sprint(patternCalls(q, p, s, y)), fmt.Sprint(patternCalls(p, q, s, y)))
+		}
+	}
+	large := impl.Pattern{Pieces: make([]impl.Piece, 100000), Seams: make([]impl.Seam, 100000)}
+	patternCalls(large, large, impl.Seam{}, 0)
+	large = impl.Pattern{Pieces: []impl.Piece{piece("a", make([]int64, 100000)...)}}
+	patternCalls(large, large, impl.Seam{}, 0)
+	large = impl.Pattern{Pieces: many(2).Pieces, Seams: make([]impl.Seam, 100000)}
+	patternCalls(large, large, impl.Seam{}, 0)
+}
+
+// TestResultsOfPatternsAreNew is for promise 1: what a caller does with a result changes neither an argument nor another result, nor another part of the same one.
+func TestResultsOfPatternsAreNew(t *testing.T) {
+	// Both pieces have the same edges in the same memory.
+	edges := []int64{5, 6, 7}
+	p := guardPattern(impl.Pattern{Seams: seamsOf("0.0=1.0"), Openings: 1})
+	p.Pieces = []impl.Piece{piece("a", edges...), piece("b", edges...)}
+	want := pattern("a 5 6 7, b 5 6 7", "0.0=1.0 0.1=1.1", 1)
+	for range 2 {
+		more, _ := impl.AddSeam(p, want.Seams[1])
+		again, _ := impl.AddSeam(p, want.Seams[1])
+		same(t, "more", []any{more, again}, []any{want, want})
+		spoil(more.Pieces[0].Edges)
+		same(t, "other piece", more.Pieces[1], want.Pieces[1])
+		for i := range more.Pieces[:cap(more.Pieces)] {
+			more.Pieces[:cap(more.Pieces)][i] = piece("spoilt")
+		}
+		for i := range more.Seams[:cap(more.Seams)] {
+			more.Seams[:cap(more.Seams)][i] = seam(9, 9, 9, 9)
+		}
+		same(t, "more again", again, want)
+		same(t, "behind the seams", p.Seams[:4][1], seam(7, 7, 7, 7))
+
+		open, _ := impl.OpenEdges(p)
+		same(t, "open edges", open, [][]int64{{0, 1}, {0, 2}, {1, 1}, {1, 2}})
+		spoil(open[0])
+		same(t, "other open edges", open[1:], [][]int64{{0, 2}, {1, 1}, {1, 2}})
+		differences, _ := impl.SeamDifferences(p)
+		openings, _ := impl.OpeningsOf(p)
+		parts, _ := impl.PartsOf(p)
+		same(t, "lists", []any{differences, openings, parts}, []any{[]int64{0}, []int64{26}, []int64{0, 0}})
+		for _, list := range [][]int64{differences, openings, parts} {
+			spoil(list)
+		}
+		read, _ := impl.ReadPiece("a 5 6 7")
+		same(t, "piece", read, piece("a", 5, 6, 7))
+		spoil(read.Edges)
+		same(t, "pattern", []any{p, edges}, []any{pattern("a 5 6 7, b 5 6 7", "0.0=1.0", 1), []int64{5, 6, 7}})
 	}
 }
