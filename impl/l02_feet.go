@@ -227,11 +227,13 @@ func (l line) lengthOn(day int64) int64 {
 
 // areDays reports whether days are as GrowthOf and LengthOn need them, count of them.
 func areDays(days []int64, count int) bool {
-	if len(days) != count {
-		return false
-	}
-	for i, d := range days {
-		if d < 0 || d > maxDay || i > 0 && d <= days[i-1] {
+	return len(days) == count && areWithin(days, 0, maxDay) && increases(days)
+}
+
+// increases reports whether each number of a list is greater than the one before it.
+func increases(list []int64) bool {
+	for i := 1; i < len(list); i++ {
+		if list[i] <= list[i-1] {
 			return false
 		}
 	}

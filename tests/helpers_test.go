@@ -39,6 +39,10 @@ func plain(x any) any {
 		if len(s) == 0 {
 			return []impl.Spot(nil)
 		}
+	case []impl.Strip:
+		if len(s) == 0 {
+			return []impl.Strip(nil)
+		}
 	case impl.Piece:
 		return plainPiece(s)
 	case impl.Pattern:
@@ -85,6 +89,12 @@ type numbers uint64
 func (n *numbers) from(low, high int64) int64 {
 	*n = *n*6364136223846793005 + 1442695040888963407
 	return low + int64(uint64(*n)>>33)%(high-low+1)
+}
+
+// changedText returns a text with one byte more, with another byte or with one byte less; the bytes come from others.
+func changedText(n *numbers, text, others string) string {
+	at, other := n.from(0, int64(len(text)-1)), string(others[n.from(0, int64(len(others)-1))])
+	return []string{text[:at] + other + text[at:], text[:at] + other + text[at+1:], text[:at] + text[at+1:]}[n.from(0, 2)]
 }
 
 func foot(length, ball, instep, heel int64) impl.Foot {
@@ -409,4 +419,48 @@ func patternsOf(n *numbers, rounds int64) []impl.Pattern {
 		}
 	}
 	return all
+}
+
+func strip(length, allow, left, right int64) impl.Strip {
+	return impl.Strip{Length: length, Allow: allow, Left: left, Right: right}
+}
+
+// strips returns the edges of a text such as `400+30(12,8) 300+0(5,5)`, which need not be valid. It panics if a word is no edge, as the tests write these texts.
+func strips(text string) []impl.Strip {
+	var list []impl.Strip
+	for _, word := range strings.Fields(text) {
+		var x impl.Strip
+		if _, err := fmt.Sscanf(word, "%d+%d(%d,%d)", &x.Length, &x.Allow, &x.Left, &x.Right); err != nil {
+			panic(err)
+		}
+		list = append(list, x)
+	}
+	return list
+}
+
+// fieldsOf returns pointers to the numbers of an edge, in the order of the fields.
+func fieldsOf(x *impl.Strip) [4]*int64 { return [4]*int64{&x.Length, &x.Allow, &x.Left, &x.Right} }
+
+// stripsOf returns count edges with lengths up to most; one of three has no allowance.
+func stripsOf(n *numbers, count, most int64) []impl.Strip {
+	var list []impl.Strip
+	for range count {
+		x := strip(n.from(1, most), n.from(1, 200), n.from(0, 200), n.from(0, 200))
+		if n.from(0, 2) == 0 {
+			x.Allow = 0
+		}
+		list = append(list, x)
+	}
+	return list
+}
+
+// placesOf returns count strictly increasing places from low to high, of which there must be enough.
+func placesOf(n *numbers, count, low, high int64) []int64 {
+	var list []int64
+	for left := count - 1; left >= 0; left-- {
+		x := n.from(low, min(high-left, low+2*(high-low)/(left+1)))
+		list = append(list, x)
+		low = x + 1
+	}
+	return list
 }

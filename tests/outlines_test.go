@@ -331,8 +331,7 @@ func TestReadOutlineOfChangedTexts(t *testing.T) {
 	for _, list := range outlinesOf(&n, 16) {
 		text := writtenOf(list)
 		for range 12 {
-			at, other := n.from(0, int64(len(text)-1)), string(others[n.from(0, int64(len(others)-1))])
-			changed := []string{text[:at] + other + text[at:], text[:at] + other + text[at+1:], text[:at] + text[at+1:]}[n.from(0, 2)]
+			changed := changedText(&n, text, others)
 			var want []impl.Spot
 			if form.MatchString(changed) {
 				want = spots(changed)

@@ -83,8 +83,7 @@ func TestReadPieceOfChangedTexts(t *testing.T) {
 		if i%2 == 0 {
 			text = writtenPiece(piece("x-1", lengthsOf(&n, 3+i%6, 1, 10000)...))
 		}
-		at, other := n.from(0, int64(len(text)-1)), string(others[n.from(0, int64(len(others)-1))])
-		changed := []string{text[:at] + other + text[at:], text[:at] + other + text[at+1:], text[:at] + text[at+1:]}[n.from(0, 2)]
+		changed := changedText(&n, text, others)
 		var want impl.Piece
 		isPiece := form.MatchString(changed)
 		if isPiece {

@@ -143,7 +143,7 @@ func TestBasicsReturnForAll(t *testing.T) {
 	}
 }
 
-// textCalls calls every function of chapters 1 to 8 that takes a text.
+// textCalls calls every function of chapters 1 to 9 that takes a text.
 func textCalls(s string) string {
 	n, ok := impl.ReadDecimal(s)
 	f, is := impl.ReadFoot(s)
@@ -155,8 +155,9 @@ func textCalls(s string) string {
 	g, grows := impl.ReadGrade(s)
 	list, isOutline := impl.ReadOutline(s)
 	cut, isPiece := impl.ReadPiece(s)
+	edge, isStrip := impl.ReadStrip(s)
 	written, sews := impl.PieceText(piece(s, 1, 2, 3)), impl.ValidPattern(impl.Pattern{Pieces: []impl.Piece{piece(s, 1, 2, 3)}})
-	return fmt.Sprint(impl.IsName(s), n, ok, len(impl.SplitWords(s)), strings.Join(impl.SplitWords(s), "|"), f, is, half, has, x, code, valid, made, can, at, found, impl.LastText(namedLasts(s)[0]), g, grows, list, isOutline, cut, isPiece, written, sews)
+	return fmt.Sprint(impl.IsName(s), n, ok, len(impl.SplitWords(s)), strings.Join(impl.SplitWords(s), "|"), f, is, half, has, x, code, valid, made, can, at, found, impl.LastText(namedLasts(s)[0]), g, grows, list, isOutline, cut, isPiece, edge, isStrip, written, sews)
 }
 
 // sizeCalls calls every function of chapter 3 that takes numbers, and returns the results.
@@ -736,5 +737,143 @@ func TestResultsOfPatternsAreNew(t *testing.T) {
 		same(t, "piece", read, piece("a", 5, 6, 7))
 		spoil(read.Edges)
 		same(t, "pattern", []any{p, edges}, []any{pattern("a 5 6 7, b 5 6 7", "0.0=1.0", 1), []int64{5, 6, 7}})
+	}
+}
+
+// stripCalls calls every function of chapter 9 that takes edges and returns the results.
+func stripCalls(list, other []impl.Strip, k, allow int64) []any {
+	lengths, one := impl.CutLengths(list)
+	around, cut, two := impl.RoundStrips(list)
+	changed, three := impl.AddAllow(list, k, allow)
+	twice, four := impl.AllowArea(list)
+	results := []any{impl.ValidStrips(list), impl.SameStrips(list, other), impl.SameStrips(other, list), plain(lengths), one, around, cut, two, plain(changed), three, twice, four}
+	for _, x := range list {
+		text := impl.StripText(x)
+		read, ok := impl.ReadStrip(text)
+		results = append(results, text, read, ok)
+	}
+	return results
+}
+
+// hostileAllows are lengths, allowances, shares, folds and numbers of edges at both ends of ranges, just beyond them and far from them.
+var hostileAllows = []int64{math.MinInt64, math.MinInt64 + 1, -1 << 32, -201, -1, 0, 1, 2, 3, 11, 12, 13, 100, 101, 200, 201, 999, 1000, 4999, 5000, 5001, 1 << 32, 1<<32 + 1, math.MaxInt64 - 1, math.MaxInt64}
+
+// TestStripsArePure is for promise 1: valid and invalid arguments, called twice, with arguments that must stay as they are up to their capacity.
+func TestStripsArePure(t *testing.T) {
+	var n numbers
+	for i := range int64(2000) {
+		list := stripsOf(&n, i%15, 5000)
+		count := int64(len(list))
+		k, allow := n.from(-1, count), n.from(0, 200)
+		switch i % 5 {
+		case 1:
+			k = hostileAllows[n.from(0, 24)]
+		case 2:
+			allow = hostileAllows[n.from(0, 24)]
+		case 3:
+			if count > 0 {
+				*fieldsOf(&list[n.from(0, count-1)])[i%4] = hostileAllows[n.from(0, 24)]
+			}
+		}
+		other := slices.Clone(list[:count-count%2])
+		list, other = guard(list, strip(7, 7, 7, 7)), guard(other, strip(8, 8, 8, 8))
+		listBefore, otherBefore := slices.Clone(list[:count+3]), slices.Clone(other[:len(other)+3])
+		first := fmt.Sprintf("%#v", stripCalls(list, other, k, allow))
+		same(t, "edges", list[:count+3], listBefore)
+		same(t, "other edges", other[:len(other)+3], otherBefore)
+		same(t, "second call", fmt.Sprintf("%#v", stripCalls(list, other, k, allow)), first)
+		same(t, "call with copies", fmt.Sprintf("%#v", stripCalls(slices.Clip(listBefore[:count]), slices.Clip(otherBefore[:len(other)]), k, allow)), first)
+	}
+}
+
+// notchCalls calls every function of chapter 9 that takes numbers only and returns the results.
+func notchCalls(a, b int64, left, right []int64, most int64) []any {
+	notches, one := impl.NotchesOf(a, left)
+	fault, two := impl.NotchFault(a, b, left, right, most)
+	ease, three := impl.EaseOf(a, b, right)
+	rest, four := impl.FoldLength(b, left, most)
+	return []any{plain(notches), one, fault, two, plain(ease), three, rest, four}
+}
+
+// TestNotchesArePure is for promise 1: valid and invalid arguments, called twice, with arguments that must stay as they are up to their capacity.
+func TestNotchesArePure(t *testing.T) {
+	var n numbers
+	for i := range int64(3000) {
+		a, b, most := n.from(1, 5000), n.from(1, 5000), n.from(0, []int64{5, 100, 5000}[i%3])
+		left, right := placesOf(&n, min(a, i/3%12), 0, min(a, 999)), placesOf(&n, min(b, i/3%12), 0, min(b, 999))
+		x := hostileAllows[n.from(0, 24)]
+		switch i % 7 {
+		case 1:
+			a = x
+		case 2:
+			b = x
+		case 3:
+			most = x
+		case 4:
+			left = append(left, x)
+		case 5:
+			right = append(right, x)
+		case 6:
+			left = lengthsOf(&n, i%11, 0, 200)
+		}
+		left, right = guard(left, 77), guard(right, 78)
+		leftBefore, rightBefore := slices.Clone(left[:len(left)+3]), slices.Clone(right[:len(right)+3])
+		first := fmt.Sprintf("%#v", notchCalls(a, b, left, right, most))
+		same(t, "left", left[:len(left)+3], leftBefore)
+		same(t, "right", right[:len(right)+3], rightBefore)
+		same(t, "second call", fmt.Sprintf("%#v", notchCalls(a, b, left, right, most)), first)
+		same(t, "call with copies", fmt.Sprintf("%#v", notchCalls(a, b, slices.Clip(leftBefore[:len(left)]), slices.Clip(rightBefore[:len(right)]), most)), first)
+	}
+}
+
+// TestAllowancesReturnForAll is for promise 1: each number with each hostile number; nil lists are like empty ones.
+func TestAllowancesReturnForAll(t *testing.T) {
+	for _, x := range hostileAllows {
+		for _, y := range hostileAllows {
+			p, q := strip(x, y, x, y), strip(y, x, y, x)
+			lists := [][]impl.Strip{{p}, {p, q}, {p, q, p}, {p, p, p}, {q, strip(1, 0, x, y), p}, {strip(400, 30, 12, 8), strip(x, 30, 12, 8), strip(400, y, 12, 8)}, {strip(400, 30, x, 8), strip(400, 30, 12, 8), strip(400, 30, 12, y)}, goodStrips(), slices.Repeat([]impl.Strip{p}, 13)}
+			for i, list := range lists {
+				stripCalls(list, lists[(i+1)%len(lists)], x, y)
+			}
+			notchCalls(x, y, []int64{x, y}, []int64{y, x}, x)
+			notchCalls(400, 410, []int64{x, y}, []int64{103, 205}, y)
+			notchCalls(x, y, []int64{0, 1}, []int64{0, 1}, 0)
+			notchCalls(400, x, []int64{100, 200}, []int64{y}, y)
+			notchCalls(5000, y, []int64{0, x, y}, []int64{0, y, x}, 5000)
+			same(t, "results of edges", fmt.Sprint(stripCalls([]impl.Strip{}, []impl.Strip{}, x, y)), fmt.Sprint(stripCalls(nil, nil, x, y)))
+			same(t, "results of notches", fmt.Sprint(notchCalls(x, y, []int64{}, []int64{}, x)), fmt.Sprint(notchCalls(x, y, nil, nil, x)))
+			same(t, "results of an edge without notches", fmt.Sprint(notchCalls(400, 410, []int64{}, nil, x)), fmt.Sprint(notchCalls(400, 410, nil, []int64{}, x)))
+		}
+	}
+	large, many := make([]impl.Strip, 100000), make([]int64, 100000)
+	stripCalls(large, large, 99999, 0)
+	notchCalls(400, 410, many, many, 0)
+	for i := range many {
+		many[i] = int64(i)
+	}
+	notchCalls(400, 410, many, many, 0)
+}
+
+// TestResultsOfAllowancesAreNew is for promise 1: what a caller does with a result changes neither an argument nor another result, also where the result is equal to the argument.
+func TestResultsOfAllowancesAreNew(t *testing.T) {
+	edges, shares := strips("400+0(12,8) 300+0(5,5) 500+0(0,0)"), []int64{250, 500}
+	list, given := guard(edges, strip(7, 7, 7, 7)), guard(shares, 77)
+	for range 2 {
+		changed, _ := impl.AddAllow(list, 1, 0)
+		again, _ := impl.AddAllow(list, 1, 0)
+		same(t, "edges with another allowance", []any{changed, again}, []any{edges, edges})
+		for i := range changed[:cap(changed)] {
+			changed[:cap(changed)][i] = strip(9, 9, 9, 9)
+		}
+		same(t, "edges", []any{list, again}, []any{edges, edges})
+
+		lengths, _ := impl.CutLengths(list)
+		notches, _ := impl.NotchesOf(1000, given)
+		ease, _ := impl.EaseOf(1000, 2000, given)
+		same(t, "lists", []any{lengths, notches, ease}, []any{[]int64{400, 300, 500}, shares, []int64{250, 250, 500}})
+		for _, result := range [][]int64{lengths, notches, ease} {
+			spoil(result)
+			same(t, "shares", given[:4], []int64{250, 500, 77, 77})
+		}
 	}
 }
