@@ -464,3 +464,152 @@ func placesOf(n *numbers, count, low, high int64) []int64 {
 	}
 	return list
 }
+
+func cut(width, height, quality, worth int64) impl.Cut {
+	return impl.Cut{Width: width, Height: height, Quality: quality, Worth: worth}
+}
+
+// cuts returns the pieces of a text such as `2x1q3=5 1x1q2=4`, which need not be valid: the width, the height, the quality and the worth. It panics if a word is no piece, as the tests write these texts.
+func cuts(text string) []impl.Cut {
+	var list []impl.Cut
+	for _, word := range strings.Fields(text) {
+		var c impl.Cut
+		if _, err := fmt.Sscanf(word, "%dx%dq%d=%d", &c.Width, &c.Height, &c.Quality, &c.Worth); err != nil {
+			panic(err)
+		}
+		list = append(list, c)
+	}
+	return list
+}
+
+// numbersOfCut returns pointers to the numbers of a piece, in the order of the fields.
+func numbersOfCut(c *impl.Cut) [4]*int64 {
+	return [4]*int64{&c.Width, &c.Height, &c.Quality, &c.Worth}
+}
+
+// hideOf returns a hide with so many rows and columns, each field with one of the letters.
+func hideOf(n *numbers, rows, columns int64, letters string) []string {
+	var hide []string
+	for range rows {
+		var row []byte
+		for range columns {
+			row = append(row, letters[n.from(0, int64(len(letters))-1)])
+		}
+		hide = append(hide, string(row))
+	}
+	return hide
+}
+
+// cutsOf returns count pieces with at most so many columns and rows, and worth up to most.
+func cutsOf(n *numbers, count, columns, rows, most int64) []impl.Cut {
+	var list []impl.Cut
+	for range count {
+		list = append(list, cut(n.from(1, columns), n.from(1, rows), n.from(1, 3), n.from(0, most)))
+	}
+	return list
+}
+
+// qualityOf returns the quality of a letter.
+func qualityOf(letter byte) int64 {
+	switch letter {
+	case 'a':
+		return 3
+	case 'b':
+		return 2
+	case 'c':
+		return 1
+	}
+	return 0
+}
+
+// coverOf returns the rows and the columns of all fields that a piece has at a field, also of those beside the hide.
+func coverOf(rows []string, c impl.Cut, at int64) [][2]int64 {
+	columns := int64(len(rows[0]))
+	var all [][2]int64
+	for down := range c.Height {
+		for across := range c.Width {
+			all = append(all, [2]int64{at/columns + down, at%columns + across})
+		}
+	}
+	return all
+}
+
+// fitsAt reports whether all fields of a piece are on the hide and good enough.
+func fitsAt(rows []string, c impl.Cut, at int64) bool {
+	for _, field := range coverOf(rows, c, at) {
+		if field[0] >= int64(len(rows)) || field[1] >= int64(len(rows[0])) || qualityOf(rows[field[0]][field[1]]) < c.Quality {
+			return false
+		}
+	}
+	return true
+}
+
+// painted paints the pieces of a plan onto the rows of a hide, one after the other, until one does not fit or has a field of another one; it returns this one, too, and -1 if there is none.
+func painted(rows []string, list []impl.Cut, plan []int64) ([]string, int64) {
+	var lines [][]byte
+	for _, row := range rows {
+		lines = append(lines, []byte(row))
+	}
+	for i, at := range plan {
+		if at == -1 {
+			continue
+		}
+		if !fitsAt(rows, list[i], at) {
+			return nil, int64(i)
+		}
+		for _, field := range coverOf(rows, list[i], at) {
+			if letter := &lines[field[0]][field[1]]; strings.Contains("abcx", string(*letter)) {
+				*letter = "0123"[i]
+			} else {
+				return nil, int64(i)
+			}
+		}
+	}
+	var texts []string
+	for _, line := range lines {
+		texts = append(texts, string(line))
+	}
+	return texts, -1
+}
+
+// worthOf returns what the pieces of a plan are worth that are cut.
+func worthOf(list []impl.Cut, plan []int64) int64 {
+	var worth int64
+	for i, at := range plan {
+		if at >= 0 {
+			worth += list[i].Worth
+		}
+	}
+	return worth
+}
+
+// eachPlan visits all plans that are not faulty, the last one in the order of the document first.
+func eachPlan(rows []string, list []impl.Cut, visit func(plan []int64)) {
+	var try func(plan []int64)
+	try = func(plan []int64) {
+		if _, fault := painted(rows, list, plan); fault >= 0 {
+			return
+		}
+		if len(plan) == len(list) {
+			visit(plan)
+			return
+		}
+		for at := int64(len(rows)*len(rows[0])) - 1; at >= -1; at-- {
+			try(append(slices.Clone(plan), at))
+		}
+	}
+	try(nil)
+}
+
+// bestOf returns the first one of all plans with the greatest worth, and this worth.
+func bestOf(rows []string, list []impl.Cut) ([]int64, int64) {
+	var best []int64
+	most := int64(-1)
+	eachPlan(rows, list, func(plan []int64) {
+		worth := worthOf(list, plan)
+		if worth > most || worth == most && slices.Compare(plan, best) < 0 {
+			best, most = plan, worth
+		}
+	})
+	return best, most
+}

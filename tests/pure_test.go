@@ -3,9 +3,11 @@ package tests
 import (
 	"fmt"
 	"math"
+	"runtime"
 	"slices"
 	"strings"
 	"testing"
+	"time"
 
 	"loop.example/g01043/impl"
 )
@@ -143,7 +145,7 @@ func TestBasicsReturnForAll(t *testing.T) {
 	}
 }
 
-// textCalls calls every function of chapters 1 to 9 that takes a text.
+// textCalls calls every function of chapters 1 to 10 that takes a text.
 func textCalls(s string) string {
 	n, ok := impl.ReadDecimal(s)
 	f, is := impl.ReadFoot(s)
@@ -157,7 +159,8 @@ func textCalls(s string) string {
 	cut, isPiece := impl.ReadPiece(s)
 	edge, isStrip := impl.ReadStrip(s)
 	written, sews := impl.PieceText(piece(s, 1, 2, 3)), impl.ValidPattern(impl.Pattern{Pieces: []impl.Piece{piece(s, 1, 2, 3)}})
-	return fmt.Sprint(impl.IsName(s), n, ok, len(impl.SplitWords(s)), strings.Join(impl.SplitWords(s), "|"), f, is, half, has, x, code, valid, made, can, at, found, impl.LastText(namedLasts(s)[0]), g, grows, list, isOutline, cut, isPiece, edge, isStrip, written, sews)
+	hides := []any{hideCalls([]string{s}, goodCuts()[:1], []int64{0}, 0, 0, 1), hideCalls([]string{"aab", s}, goodCuts()[:1], []int64{3}, 1, 0, 1), hideCalls(strings.SplitN(s, " ", 3), nil, nil, 0, 0, 1)}
+	return fmt.Sprint(impl.IsName(s), n, ok, len(impl.SplitWords(s)), strings.Join(impl.SplitWords(s), "|"), f, is, half, has, x, code, valid, made, can, at, found, impl.LastText(namedLasts(s)[0]), g, grows, list, isOutline, cut, isPiece, edge, isStrip, written, sews, hides)
 }
 
 // sizeCalls calls every function of chapter 3 that takes numbers, and returns the results.
@@ -876,4 +879,144 @@ func TestResultsOfAllowancesAreNew(t *testing.T) {
 			same(t, "shares", given[:4], []int64{250, 500, 77, 77})
 		}
 	}
+}
+
+// hideCalls calls every function of chapter 10 and returns the results.
+func hideCalls(rows []string, list []impl.Cut, plan []int64, row, column, quality int64) []any {
+	var c impl.Cut
+	if len(list) > 0 {
+		c = list[0]
+	}
+	at, one := impl.QualityAt(rows, row, column)
+	places, two := impl.PlacesOf(rows, c)
+	width, height, three := impl.LargestCut(rows, quality)
+	fault, four := impl.PlanFault(rows, list, plan)
+	worth, five := impl.PlanWorth(rows, list, plan)
+	best, most, six := impl.BestPlan(rows, list)
+	share, seven := impl.UsedShare(rows, list, plan)
+	mirrored, eight := impl.MirrorHide(rows)
+	lines, nine := impl.PlanLines(rows, list, plan)
+	return []any{impl.ValidHide(rows), impl.ValidCuts(list), at, one, plain(places), two, width, height, three, fault, four, worth, five, plain(best), most, six, share, seven, plain(mirrored), eight, plain(lines), nine}
+}
+
+// hostileFields are fields, rows, columns, qualities and numbers of pieces at both ends of ranges, just beyond them and far from them.
+var hostileFields = []int64{math.MinInt64, math.MinInt64 + 1, -1 << 32, -36, -2, -1, 0, 1, 2, 3, 4, 5, 6, 7, 35, 36, 37, 63, 64, 65, 1000, 1001, 1 << 32, 1<<32 + 1, math.MaxInt64 - 1, math.MaxInt64}
+
+// TestHidesArePure is for promise 1: valid and invalid arguments, called twice, with arguments that must stay as they are up to their capacity.
+func TestHidesArePure(t *testing.T) {
+	var n numbers
+	for i, rows := range slices.Concat(manyHides(&n, 60), badHides()) {
+		list := cutsOf(&n, int64(i)%6, 3, 3, 1000)
+		var plan []int64
+		for range list {
+			plan = append(plan, n.from(-1, 35))
+		}
+		row, column, quality, x := n.from(0, 5), n.from(0, 5), n.from(1, 3), hostileFields[n.from(0, 25)]
+		switch i % 8 {
+		case 1:
+			row = x
+		case 2:
+			column = x
+		case 3:
+			quality = x
+		case 4:
+			plan = append(plan, x)
+		case 5:
+			if len(list) > 0 {
+				plan[n.from(0, int64(len(plan))-1)] = x
+			}
+		case 6:
+			if len(list) > 0 {
+				*numbersOfCut(&list[n.from(0, int64(len(list))-1)])[i/8%4] = x
+			}
+		case 7:
+			if impl.ValidHide(rows) && impl.ValidCuts(list) {
+				plan, _, _ = impl.BestPlan(rows, list)
+			}
+		}
+		rows, list, plan = guard(rows, "mark"), guard(list, cut(7, 7, 7, 7)), guard(plan, 77)
+		rowsBefore, listBefore, planBefore := slices.Clone(rows[:len(rows)+3]), slices.Clone(list[:len(list)+3]), slices.Clone(plan[:len(plan)+3])
+		first := fmt.Sprintf("%#v", hideCalls(rows, list, plan, row, column, quality))
+		same(t, "rows", rows[:len(rows)+3], rowsBefore)
+		same(t, "pieces", fmt.Sprint(list[:len(list)+3]), fmt.Sprint(listBefore))
+		same(t, "plan", plan[:len(plan)+3], planBefore)
+		same(t, "second call", fmt.Sprintf("%#v", hideCalls(rows, list, plan, row, column, quality)), first)
+		same(t, "call with copies", fmt.Sprintf("%#v", hideCalls(slices.Clip(rowsBefore[:len(rows)]), slices.Clip(listBefore[:len(list)]), slices.Clip(planBefore[:len(plan)]), row, column, quality)), first)
+	}
+}
+
+// TestHidesReturnForAll is for promise 1: each number with each hostile number; nil lists are like empty ones.
+func TestHidesReturnForAll(t *testing.T) {
+	var n numbers
+	hides := [][]string{{"a"}, {"x"}, {"aab"}, {"a", "b"}, strings.Fields(full), strings.Fields("aab xca"), {"ad"}, nil}
+	for _, x := range hostileFields {
+		for _, y := range hostileFields {
+			lists := [][]impl.Cut{{cut(x, y, x, y)}, {cut(1, 1, 1, 1), cut(y, x, 1, 1)}, {cut(1, x, 3, 5), cut(y, 1, 3, 5)}, {cut(1, 1, x, y), cut(1, 1, 1, y)}, cuts("2x1q3=5 1x1q2=4"), cuts("1x1q1=0 6x6q3=1000 1x6q1=3 6x1q1=3")}
+			plans := [][]int64{{x}, {x, y}, {y, x}, {x, y, x, y}, {0, x}, {y, -1}, {-1, x, y, 0}, nil}
+			for _, rows := range hides {
+				hideCalls(rows, lists[n.from(0, 5)], plans[n.from(0, 7)], x, y, x)
+				hideCalls(rows, lists[n.from(0, 3)], plans[n.from(0, 7)], 0, x, y)
+				hideCalls(rows, lists[5], plans[3+3*n.from(0, 1)], y, 0, 3)
+				hideCalls(rows, lists[4], plans[n.from(0, 5)], y, x, 1)
+				same(t, "results", fmt.Sprint(hideCalls(rows, []impl.Cut{}, []int64{}, x, y, x)), fmt.Sprint(hideCalls(rows, nil, nil, x, y, x)))
+			}
+			same(t, "results without rows", fmt.Sprint(hideCalls([]string{}, lists[4], plans[1], x, y, x)), fmt.Sprint(hideCalls(nil, lists[4], plans[1], x, y, x)))
+		}
+	}
+	long := strings.Repeat("a", 100000)
+	for _, rows := range [][]string{make([]string, 100000), {long}, slices.Repeat([]string{long}, 6), slices.Repeat([]string{"aaaaaa"}, 100000), strings.Fields(full)} {
+		hideCalls(rows, make([]impl.Cut, 100000), make([]int64, 100000), 99999, 99999, 1)
+		hideCalls(rows, slices.Repeat(cuts("1x1q1=1"), 100000), make([]int64, 4), 0, 0, 1)
+		hideCalls(rows, cuts("1x1q1=1"), make([]int64, 100000), 0, 0, 1)
+	}
+}
+
+// TestResultsOfHidesAreNew is for promise 1: what a caller does with a result changes neither an argument nor another result, also where the result is equal to the argument.
+func TestResultsOfHidesAreNew(t *testing.T) {
+	rows, list, plan := guard([]string{"aba", "xax"}, "mark"), guard(cuts("1x1q3=5 1x1q3=4"), cut(7, 7, 7, 7)), guard([]int64{0, 2}, 77)
+	for range 2 {
+		places, _ := impl.PlacesOf(rows, list[0])
+		best, _, _ := impl.BestPlan(rows, list)
+		again, _, _ := impl.BestPlan(rows, list)
+		same(t, "lists", []any{places, best, again}, []any{[]int64{0, 2, 4}, plan, plan})
+		spoil(places)
+		spoil(best)
+		same(t, "plans", []any{plan[:5], again}, []any{[]int64{0, 2, 77, 77, 77}, []int64{0, 2}})
+
+		mirrored, _ := impl.MirrorHide(rows)
+		lines, _ := impl.PlanLines(rows, list, []int64{-1, -1})
+		drawn, _ := impl.PlanLines(rows, list, plan)
+		same(t, "rows", []any{mirrored, lines, drawn}, []any{rows, rows, []string{"0b1", "xax"}})
+		for _, result := range [][]string{mirrored, lines, drawn} {
+			for i := range result[:cap(result)] {
+				result[:cap(result)][i] = "spoilt"
+			}
+			same(t, "hide", rows[:5], []string{"aba", "xax", "mark", "mark", "mark"})
+		}
+	}
+}
+
+// TestHidesSideBySide is for promise 1: calls at the same time return what they return alone, and leave nothing behind that goes on.
+func TestHidesSideBySide(t *testing.T) {
+	var n numbers
+	before := runtime.NumGoroutine()
+	for i, rows := range manyHides(&n, 4) {
+		list, plan := somePieces(&n, rows, int64(i)%5, int64(i)), repeated(-1, i%5)
+		want := fmt.Sprint(hideCalls(rows, list, plan, 0, 0, 1))
+		results := make(chan string)
+		for range 8 {
+			go func() { results <- fmt.Sprint(hideCalls(rows, list, plan, 0, 0, 1)) }()
+		}
+		for range 8 {
+			same(t, "result", <-results, want)
+		}
+	}
+	// What has done its last step may still need a moment to end.
+	for range 1000 {
+		if runtime.NumGoroutine() <= before {
+			return
+		}
+		time.Sleep(10 * time.Millisecond)
+	}
+	t.Errorf("%d goroutines go on", runtime.NumGoroutine()-before)
 }
