@@ -43,6 +43,10 @@ func plain(x any) any {
 		if len(s) == 0 {
 			return []impl.Strip(nil)
 		}
+	case []impl.Block:
+		if len(s) == 0 {
+			return []impl.Block(nil)
+		}
 	case impl.Piece:
 		return plainPiece(s)
 	case impl.Pattern:
@@ -612,4 +616,128 @@ func bestOf(rows []string, list []impl.Cut) ([]int64, int64) {
 		}
 	})
 	return best, most
+}
+
+func block(width, height int64) impl.Block { return impl.Block{Width: width, Height: height} }
+
+// blocks returns the blocks of a text such as `30x10 40x9`, which need not be valid. It panics if a word is no block, as the tests write these texts.
+func blocks(text string) []impl.Block {
+	var list []impl.Block
+	for _, word := range strings.Fields(text) {
+		width, height, _ := strings.Cut(word, "x")
+		list = append(list, block(number(width), number(height)))
+	}
+	return list
+}
+
+// blocksOf returns count blocks with Widths and Heights that are not greater than those told.
+func blocksOf(n *numbers, count, width, height int64) []impl.Block {
+	var list []impl.Block
+	for range count {
+		list = append(list, block(n.from(1, width), n.from(1, height)))
+	}
+	return list
+}
+
+// widthsAndHeights returns for each row the sum of the Widths of its blocks, and the greatest Height of them.
+func widthsAndHeights(list []impl.Block, rows []int64) (widths, heights [9]int64) {
+	for i, k := range rows {
+		widths[k] += list[i].Width
+		heights[k] = max(heights[k], list[i].Height)
+	}
+	return widths, heights
+}
+
+// faultOfRows returns the first row that is too wide, -1 if there is none.
+func faultOfRows(list []impl.Block, roll int64, rows []int64) int64 {
+	widths, _ := widthsAndHeights(list, rows)
+	for k, width := range widths {
+		if width > roll {
+			return int64(k)
+		}
+	}
+	return -1
+}
+
+// lengthOfRows returns the sum of the heights of all rows.
+func lengthOfRows(list []impl.Block, rows []int64) int64 {
+	_, heights := widthsAndHeights(list, rows)
+	return totalOf(heights[:])
+}
+
+// areaOf returns what blocks cover.
+func areaOf(list []impl.Block) int64 {
+	var area int64
+	for _, b := range list {
+		area += b.Width * b.Height
+	}
+	return area
+}
+
+// eachRows visits all rows of count blocks, in which numbers are less than most. What it visits changes afterwards.
+func eachRows(count int, most int64, visit func(rows []int64)) {
+	rows := make([]int64, count)
+	var try func(at int)
+	try = func(at int) {
+		if at == count {
+			visit(rows)
+			return
+		}
+		for k := range most {
+			rows[at] = k
+			try(at + 1)
+		}
+	}
+	try(0)
+}
+
+// eachParting visits all rows of count blocks, in which each row first stands behind all lesser ones, the last ones first. What it visits changes afterwards.
+func eachParting(count int, visit func(rows []int64)) {
+	rows := make([]int64, count)
+	var try func(at int, next int64)
+	try = func(at int, next int64) {
+		if at == count {
+			visit(rows)
+			return
+		}
+		for k := next; k >= 0; k-- {
+			rows[at] = k
+			try(at+1, max(next, k+1))
+		}
+	}
+	try(0, 0)
+}
+
+// bestRowsOf returns the first ones of all rows without a fault that have the least length, this length, and how many such rows there are.
+func bestRowsOf(list []impl.Block, roll int64) (best []int64, least, ties int64) {
+	eachParting(len(list), func(rows []int64) {
+		if faultOfRows(list, roll, rows) >= 0 {
+			return
+		}
+		length := lengthOfRows(list, rows)
+		switch {
+		case ties == 0 || length < least:
+			best, least, ties = slices.Clone(rows), length, 1
+		case length == least:
+			ties++
+			if slices.Compare(rows, best) < 0 {
+				best = slices.Clone(rows)
+			}
+		}
+	})
+	return best, least, ties
+}
+
+func leather(along, across, set, most int64) impl.Leather {
+	return impl.Leather{Along: along, Across: across, Set: set, Most: most}
+}
+
+// numbersOfLeather returns pointers to the numbers of a leather, in the order of the fields.
+func numbersOfLeather(l *impl.Leather) [4]*int64 {
+	return [4]*int64{&l.Along, &l.Across, &l.Set, &l.Most}
+}
+
+// leatherOf returns a leather that gives up to give.
+func leatherOf(n *numbers, give int64) impl.Leather {
+	return leather(n.from(0, give), n.from(0, give), n.from(0, 1000), n.from(1, 500))
 }

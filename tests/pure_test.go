@@ -145,7 +145,7 @@ func TestBasicsReturnForAll(t *testing.T) {
 	}
 }
 
-// textCalls calls every function of chapters 1 to 10 that takes a text.
+// textCalls calls every function of chapters 1 to 12 that takes a text.
 func textCalls(s string) string {
 	n, ok := impl.ReadDecimal(s)
 	f, is := impl.ReadFoot(s)
@@ -1019,4 +1019,192 @@ func TestHidesSideBySide(t *testing.T) {
 		time.Sleep(10 * time.Millisecond)
 	}
 	t.Errorf("%d goroutines go on", runtime.NumGoroutine()-before)
+}
+
+// nestCalls calls every function of chapter 11 and returns the results.
+func nestCalls(list, other []impl.Block, roll int64, rows []int64) []any {
+	fault, one := impl.RowsFault(list, roll, rows)
+	length, two := impl.HeightOfRows(list, roll, rows)
+	first, three := impl.FirstRows(list, roll)
+	tall, four := impl.TallRows(list, roll)
+	best, five := impl.BestRows(list, roll)
+	least, six := impl.LeastHeight(list, roll)
+	bound, seven := impl.HeightBound(list, roll)
+	waste, eight := impl.WasteOfRows(list, roll, rows)
+	turned, nine := impl.TurnBlocks(list, roll)
+	places, ten := impl.PlacesOnRoll(list, roll, rows)
+	return []any{impl.ValidBlocks(list, roll), impl.SameBlocks(list, other), fault, one, length, two, plain(first), three, plain(tall), four, plain(best), five, least, six, bound, seven, waste, eight, plain(turned), nine, plain(places), ten, impl.BlocksText(list, roll)}
+}
+
+// hostileBlocks are Widths, Heights, rolls and rows at both ends of ranges, just beyond them and far from them.
+var hostileBlocks = []int64{math.MinInt64, math.MinInt64 + 1, -1 << 32, -5000, -1, 0, 1, 2, 8, 9, 10, 59, 60, 61, 4999, 5000, 5001, 1 << 32, 1<<32 + 1, math.MaxInt64 - 1, math.MaxInt64}
+
+// TestBlocksArePure is for promise 1: valid and invalid arguments, called twice, with arguments that must stay as they are up to their capacity.
+func TestBlocksArePure(t *testing.T) {
+	var n numbers
+	for i := range int64(3000) {
+		roll := manyRolls[i/11%8]
+		list := someBlocks(&n, i/88, i%11, roll)
+		other := slices.Clone(list)
+		rows, x := someRows(&n, len(list)), hostileBlocks[n.from(0, 20)]
+		switch i % 7 {
+		case 1:
+			roll = x
+		case 2:
+			rows = append(rows, x)
+		case 3:
+			if len(list) > 0 {
+				rows[n.from(0, int64(len(rows))-1)] = x
+			}
+		case 4:
+			if len(list) > 0 {
+				list[n.from(0, int64(len(list))-1)].Width = x
+			}
+		case 5:
+			if len(list) > 0 {
+				list[n.from(0, int64(len(list))-1)].Height = x
+			}
+		case 6:
+			if impl.ValidBlocks(list, roll) {
+				rows, _ = impl.BestRows(list, roll)
+			}
+		}
+		list, other, rows = guard(list, block(7, 7)), guard(other, block(8, 8)), guard(rows, 77)
+		listBefore, otherBefore, rowsBefore := slices.Clone(list[:len(list)+3]), slices.Clone(other[:len(other)+3]), slices.Clone(rows[:len(rows)+3])
+		first := fmt.Sprintf("%#v", nestCalls(list, other, roll, rows))
+		same(t, "blocks", list[:len(list)+3], listBefore)
+		same(t, "other blocks", other[:len(other)+3], otherBefore)
+		same(t, "rows", rows[:len(rows)+3], rowsBefore)
+		same(t, "second call", fmt.Sprintf("%#v", nestCalls(list, other, roll, rows)), first)
+		same(t, "call with copies", fmt.Sprintf("%#v", nestCalls(slices.Clip(listBefore[:len(list)]), slices.Clip(otherBefore[:len(other)]), roll, slices.Clip(rowsBefore[:len(rows)]))), first)
+	}
+}
+
+// TestBlocksReturnForAll is for promise 1: each number with each hostile number; nil lists are like empty ones.
+func TestBlocksReturnForAll(t *testing.T) {
+	for _, x := range hostileBlocks {
+		for _, y := range hostileBlocks {
+			lists := [][]impl.Block{{block(x, y)}, {block(1, y), block(x, 1)}, {block(y, 1), block(1, x), block(x, y)}, blocks("30x10 30x8 40x9"), slices.Repeat([]impl.Block{block(x, y)}, 9), slices.Repeat([]impl.Block{block(y, 1)}, 10), slices.Repeat(blocks("1x1"), 9)}
+			for i, list := range lists {
+				for _, rows := range [][]int64{{x}, {x, y}, {0, x, y}, {x, x, x}, repeated(x, 9), nil} {
+					nestCalls(list, lists[(i+1)%len(lists)], y, rows)
+					nestCalls(list, list, 60, rows)
+				}
+			}
+			same(t, "results without blocks", fmt.Sprint(nestCalls([]impl.Block{}, []impl.Block{}, x, []int64{})), fmt.Sprint(nestCalls(nil, nil, x, nil)))
+			same(t, "results without rows", fmt.Sprint(nestCalls(lists[1], nil, x, []int64{})), fmt.Sprint(nestCalls(lists[1], []impl.Block{}, x, nil)))
+		}
+	}
+	for _, list := range [][]impl.Block{make([]impl.Block, 100000), slices.Repeat(blocks("1x1"), 100000), blocks("1x1")} {
+		nestCalls(list, list, 60, make([]int64, 100000))
+		nestCalls(list, nil, 5000, []int64{0})
+	}
+}
+
+// TestResultsOfNestingAreNew is for promise 1: what a caller does with a result changes neither an argument nor another result, also where the result is equal to the argument.
+func TestResultsOfNestingAreNew(t *testing.T) {
+	list, rows := guard(blocks("30x10 30x8 40x9"), block(7, 7)), guard([]int64{0, 0, 1}, 77)
+	for range 2 {
+		first, _ := impl.FirstRows(list, 60)
+		tall, _ := impl.TallRows(list, 60)
+		best, _ := impl.BestRows(list, 60)
+		for _, result := range [][]int64{first, tall, best} {
+			same(t, "rows", result, []int64{0, 0, 1})
+			spoil(result)
+		}
+		turned, _ := impl.TurnBlocks(list, 60)
+		again, _ := impl.TurnBlocks(list, 60)
+		same(t, "turned", []any{turned, again}, []any{blocks("30x10 30x8 40x9"), blocks("30x10 30x8 40x9")})
+		for i := range turned[:cap(turned)] {
+			turned[:cap(turned)][i] = block(9, 9)
+		}
+		same(t, "blocks", []any{list[:6], again}, []any{blocks("30x10 30x8 40x9 7x7 7x7 7x7"), blocks("30x10 30x8 40x9")})
+
+		places, _ := impl.PlacesOnRoll(list, 60, rows)
+		others, _ := impl.PlacesOnRoll(list, 60, rows)
+		for i, place := range places {
+			spoil(place)
+			for k := i + 1; k < len(places); k++ {
+				same(t, "place", places[k], others[k])
+			}
+		}
+		same(t, "places", others, [][]int64{{0, 0}, {30, 0}, {0, 10}})
+		same(t, "rows", rows[:6], []int64{0, 0, 1, 77, 77, 77})
+	}
+}
+
+// stretchCalls calls every function of chapter 12 and returns the results.
+func stretchCalls(a, b impl.Leather, direction, length, wanted, force, low, high int64, forces []int64) []any {
+	stretch, one := impl.StretchOf(a, direction, force)
+	under, two := impl.LengthUnder(a, direction, length, force)
+	after, three := impl.LengthAfter(a, direction, length, force)
+	lengths, four := impl.RunPulls(a, direction, length, forces)
+	pull, five := impl.PullFor(a, direction, length, wanted)
+	cut, six := impl.CutLength(a, direction, wanted, force)
+	best, seven := impl.BestDirection(a, force, low, high)
+	most, eight := impl.GreatestPull(a, direction)
+	first, second, nine := impl.MatchDirections(a, b)
+	return []any{impl.ValidLeather(a), stretch, one, under, two, after, three, plain(lengths), four, pull, five, cut, six, best, seven, most, eight, first, second, nine}
+}
+
+// hostilePulls are forces, lengths, directions and numbers of leathers at both ends of ranges, just beyond them and far from them.
+var hostilePulls = []int64{math.MinInt64, math.MinInt64 + 1, -1 << 32, -1, 0, 1, 4, 5, 100, 101, 500, 501, 1000, 1001, 10000, 10001, 1 << 32, 1<<32 + 1, math.MaxInt64 - 1, math.MaxInt64}
+
+// TestStretchIsPure is for promise 1: valid and invalid arguments, called twice, with forces that must stay as they are up to their capacity.
+func TestStretchIsPure(t *testing.T) {
+	var n numbers
+	for i := range int64(4000) {
+		a, b := leatherOf(&n, []int64{3, 20, 100}[i%3]), leatherOf(&n, 100)
+		forces := lengthsOf(&n, i%23, 0, []int64{20, 1000}[i/23%2])
+		args := []int64{n.from(0, 4), n.from(1, 10000), n.from(1, 10000), n.from(0, 1000), n.from(0, 250), n.from(250, 500)}
+		x := hostilePulls[n.from(0, 19)]
+		switch i % 4 {
+		case 1:
+			args[n.from(0, 5)] = x
+		case 2:
+			*numbersOfLeather([]*impl.Leather{&a, &b}[i/4%2])[i/8%4] = x
+		case 3:
+			if len(forces) > 0 {
+				forces[n.from(0, int64(len(forces))-1)] = x
+			}
+		}
+		forces = guard(forces, 77)
+		before := slices.Clone(forces[:len(forces)+3])
+		call := func(forces []int64) string {
+			return fmt.Sprintf("%#v", stretchCalls(a, b, args[0], args[1], args[2], args[3], args[4], args[5], forces))
+		}
+		first := call(forces)
+		same(t, "forces", forces[:len(forces)+3], before)
+		same(t, "second call", call(forces), first)
+		same(t, "call with a copy", call(slices.Clip(before[:len(forces)])), first)
+	}
+}
+
+// TestStretchReturnsForAll is for promise 1: each number with each hostile number; no forces are like nil.
+func TestStretchReturnsForAll(t *testing.T) {
+	good := leather(2, 10, 500, 200)
+	for _, x := range hostilePulls {
+		for _, y := range hostilePulls {
+			for _, l := range []impl.Leather{leather(x, y, 500, 200), leather(y, 10, x, 200), leather(2, x, 500, y), leather(2, 10, x, y), leather(x, x, x, x), good, leather(100, 100, 1000, 500), leather(0, 0, 0, 1)} {
+				stretchCalls(l, good, x, y, x, y, x, y, []int64{x, y})
+				stretchCalls(good, l, 4, x, y, 100, 0, y, []int64{y})
+				stretchCalls(l, l, x, 1000, 1100, y, x, 500, []int64{0, x, 0, y})
+				stretchCalls(l, l, 0, x, 10000, 0, 0, 500, repeated(y, 20))
+				stretchCalls(l, good, 4, 1, y, x, 0, 0, repeated(x, 21))
+				same(t, "results without forces", fmt.Sprint(stretchCalls(l, good, x, y, x, y, x, y, []int64{})), fmt.Sprint(stretchCalls(l, good, x, y, x, y, x, y, nil)))
+			}
+		}
+	}
+	stretchCalls(good, good, 4, 1000, 1000, 100, 0, 500, make([]int64, 100000))
+}
+
+// TestResultsOfStretchAreNew is for promise 1: what a caller does with lengths changes neither the forces nor other lengths, also where all are equal.
+func TestResultsOfStretchAreNew(t *testing.T) {
+	forces := guard([]int64{50, 50, 50}, 77)
+	for range 2 {
+		lengths, _ := impl.RunPulls(leather(2, 10, 0, 200), 4, 50, forces)
+		again, _ := impl.RunPulls(leather(2, 10, 0, 200), 4, 50, forces)
+		spoil(lengths)
+		same(t, "lengths", []any{again, forces[:6]}, []any{[]int64{50, 50, 50}, []int64{50, 50, 50, 77, 77, 77}})
+	}
 }
